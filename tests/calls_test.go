@@ -1,0 +1,124 @@
+package tests
+
+import (
+	"fmt"
+	"slices"
+	"strings"
+	"sync"
+	"testing"
+
+	"loop.example/g00684/impl"
+)
+
+// A call is a function of the program with its arguments fixed; run returns all results as one text.
+type call struct {
+	name string
+	run  func() string
+}
+
+func textCalls(s string) []call {
+	list := []call{
+		{"NameOK", func() string { return fmt.Sprint(impl.NameOK(s)) }},
+		{"CodeOf", func() string { return fmt.Sprint(impl.CodeOf(s)) }},
+		{"SumOf", func() string { return fmt.Sprint(impl.SumOf(s)) }},
+		{"FrameText", func() string { r, c := impl.FrameText(s); return fmt.Sprint(c, r) }},
+		{"ReadFrame", func() string { r, c := impl.ReadFrame(s); return fmt.Sprint(c, r) }},
+		{"HexOf", func() string { return impl.HexOf(s) }},
+		{"BytesOf", func() string { r, c := impl.BytesOf(s); return fmt.Sprint(c, r) }},
+	}
+	for _, at := range edgeInts() {
+		for _, size := range []int{0, 1, 2, 3, 4, at} {
+			list = append(list, call{"TakeNumber", func() string { return fmt.Sprint(impl.TakeNumber(s, at, size)) }})
+		}
+	}
+	return list
+}
+
+func numberCalls(n int) []call {
+	list := []call{{"CodeWord", func() string { return impl.CodeWord(n) }}}
+	for _, m := range edgeInts() {
+		list = append(list, call{"PutNumber", func() string { r, c := impl.PutNumber(n, m); return fmt.Sprint(c, r) }})
+		for _, op := range []int{0, 1, 2, 3, n} {
+			list = append(list, call{"Checked", func() string { return fmt.Sprint(impl.Checked(op, n, m)) }})
+		}
+	}
+	return list
+}
+
+func allCalls() []call {
+	var list []call
+	for _, s := range edgeTexts() {
+		list = append(list, textCalls(s)...)
+	}
+	for _, n := range edgeInts() {
+		list = append(list, numberCalls(n)...)
+	}
+	return list
+}
+
+func safely(t *testing.T, c call) string {
+	defer func() {
+		if r := recover(); r != nil {
+			t.Error(c.name, "panics:", r)
+		}
+	}()
+	return c.run()
+}
+
+// The order of the calls differs from round to round, so a call that depended on an earlier one would show.
+func TestCallsAreRepeatable(t *testing.T) {
+	list := allCalls()
+	first := make([]string, len(list))
+	for i, c := range list {
+		first[i] = safely(t, c)
+	}
+	for i, c := range slices.Backward(list) {
+		if got := safely(t, c); got != first[i] {
+			t.Errorf("%s returns %q, then %q", c.name, short(first[i]), short(got))
+		}
+	}
+}
+
+func TestCallsDoNotShareState(t *testing.T) {
+	list := allCalls()
+	var group sync.WaitGroup
+	results := make([][]string, 4)
+	for k := range results {
+		group.Go(func() {
+			for _, c := range list {
+				results[k] = append(results[k], safely(t, c))
+			}
+		})
+	}
+	group.Wait()
+	for k := range results {
+		if !slices.Equal(results[0], results[k]) {
+			t.Error("results differ from goroutine to goroutine")
+		}
+	}
+}
+
+func TestArgumentsStayUnchanged(t *testing.T) {
+	for _, s := range edgeTexts() {
+		before := strings.Clone(s)
+		for _, c := range textCalls(s) {
+			safely(t, c)
+		}
+		if s != before {
+			t.Errorf("the argument %q was changed", short(before))
+		}
+	}
+}
+
+// Equal arguments in different memory, with other bytes around them, yield equal results.
+func TestEqualArguments(t *testing.T) {
+	for _, s := range edgeTexts() {
+		inside := ("<" + s + ">")[1 : 1+len(s)]
+		a, b := textCalls(s), textCalls(inside)
+		for i := range a {
+			if x, y := safely(t, a[i]), safely(t, b[i]); x != y {
+				t.Errorf("%s of %q returns %q and %q", a[i].name, short(s), short(x), short(y))
+			}
+		}
+	}
+}

@@ -1,0 +1,78 @@
+package tests
+
+import (
+	"math"
+	"strings"
+	"testing"
+)
+
+// values of chapter 1.7, written out so that a wrong constant does not change what the tests expect
+const (
+	smallestValue = -2147483648
+	largestValue  = 2147483647
+	longestText   = 65536
+)
+
+// edgeInts holds integers at and beyond every limit of the first two chapters.
+func edgeInts() []int {
+	list := []int{math.MinInt, math.MinInt + 1, math.MaxInt, math.MaxInt - 1}
+	for _, shift := range []uint{7, 8, 15, 16, 31, 32, 33, 40, 48, 56, 61, 62} {
+		for d := -2; d <= 2; d++ {
+			list = append(list, 1<<shift+d, -1<<shift+d)
+		}
+	}
+	for n := -3; n <= 25; n++ {
+		list = append(list, n)
+	}
+	return list
+}
+
+// edgeTexts holds strings at and beyond the limits of lengths.
+func edgeTexts() []string {
+	var list []string
+	for _, n := range []int{0, 1, 2, 3, 4, 9, 10, 11, 19, 20, 21, 32767, 32768, 32769, 65525, 65526, 65527, 65535, 65536, 65537, 65538, 200000} {
+		list = append(list, strings.Repeat("a", n), strings.Repeat("\xff", n), strings.Repeat("\x00", n))
+	}
+	return append(list, "ok", "cut", "PLC1", "PLC1\x00\x00\x00\x00\xf6\x7d", "00ff", "0G", "_a9", "9a", "\xc3\xa9")
+}
+
+func isValue(n int) bool {
+	return n >= smallestValue && n <= largestValue
+}
+
+// allBytes returns the 256 bytes in their order.
+func allBytes() string {
+	b := make([]byte, 256)
+	for i := range b {
+		b[i] = byte(i)
+	}
+	return string(b)
+}
+
+// short keeps messages about long texts readable.
+func short(t string) string {
+	if len(t) > 40 {
+		return t[:40] + ".."
+	}
+	return t
+}
+
+// mixedText returns n bytes that repeat with no period dividing a power of two.
+func mixedText(n int) string {
+	b := make([]byte, n)
+	state := uint32(n + 1)
+	for i := range b {
+		state = state*1664525 + 1013904223
+		b[i] = byte(state >> 24)
+	}
+	return string(b)
+}
+
+func TestMixedTextUsesAllBytes(t *testing.T) {
+	s := mixedText(longestText)
+	for i := range 256 {
+		if strings.IndexByte(s, byte(i)) < 0 {
+			t.Error("no byte", i)
+		}
+	}
+}
