@@ -8,6 +8,8 @@ import (
 const MaxWide = 2147483647
 
 const (
+	minWide = -MaxWide - 1 // the smallest value
+
 	sumModulus = 32749
 
 	frameMark = "PLC1"

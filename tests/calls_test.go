@@ -25,6 +25,9 @@ func textCalls(s string) []call {
 		{"ReadFrame", func() string { r, c := impl.ReadFrame(s); return fmt.Sprint(c, r) }},
 		{"HexOf", func() string { return impl.HexOf(s) }},
 		{"BytesOf", func() string { r, c := impl.BytesOf(s); return fmt.Sprint(c, r) }},
+		{"OpOf", func() string { return fmt.Sprint(impl.OpOf(s)) }},
+		{"ReadInstr", func() string { return fmt.Sprint(impl.ReadInstr(s)) }},
+		{"ReadCode", func() string { return fmt.Sprint(impl.ReadCode(s)) }},
 	}
 	for _, at := range edgeInts() {
 		for _, size := range []int{0, 1, 2, 3, 4, at} {
@@ -35,14 +38,27 @@ func textCalls(s string) []call {
 }
 
 func numberCalls(n int) []call {
-	list := []call{{"CodeWord", func() string { return impl.CodeWord(n) }}}
+	list := []call{
+		{"CodeWord", func() string { return impl.CodeWord(n) }},
+		{"OpName", func() string { return impl.OpName(n) }},
+		{"CostOf", func() string { return fmt.Sprint(impl.CostOf(n)) }},
+	}
 	for _, m := range edgeInts() {
+		x := impl.Instr{Op: n, A: m}
+		list = append(list, call{"InstrOK", func() string { return fmt.Sprint(impl.InstrOK(x)) }})
+		list = append(list, call{"InstrText", func() string { r, c := impl.InstrText(x); return fmt.Sprint(c, r) }})
 		list = append(list, call{"PutNumber", func() string { r, c := impl.PutNumber(n, m); return fmt.Sprint(c, r) }})
 		for _, op := range []int{0, 1, 2, 3, n} {
 			list = append(list, call{"Checked", func() string { return fmt.Sprint(impl.Checked(op, n, m)) }})
 		}
 	}
 	return list
+}
+
+func listCalls(code []impl.Instr) []call {
+	return []call{
+		{"CodeText", func() string { r, c := impl.CodeText(code); return fmt.Sprint(c, r) }},
+	}
 }
 
 func allCalls() []call {
@@ -52,6 +68,9 @@ func allCalls() []call {
 	}
 	for _, n := range edgeInts() {
 		list = append(list, numberCalls(n)...)
+	}
+	for _, code := range edgeCode() {
+		list = append(list, listCalls(code)...)
 	}
 	return list
 }
@@ -106,6 +125,50 @@ func TestArgumentsStayUnchanged(t *testing.T) {
 		}
 		if s != before {
 			t.Errorf("the argument %q was changed", short(before))
+		}
+	}
+}
+
+// within copies the list into the middle of a longer one; the second result is all of that memory.
+func within(code []impl.Instr) ([]impl.Instr, []impl.Instr) {
+	other := impl.Instr{Op: impl.OpPoke, A: 6}
+	all := slices.Repeat([]impl.Instr{other}, len(code)+100)
+	copy(all[3:], code)
+	return all[3 : 3+len(code)], all
+}
+
+// The elements before the slice and those in its unused capacity stay as they are too.
+func TestListsStayUnchanged(t *testing.T) {
+	for _, code := range edgeCode() {
+		inside, all := within(code)
+		before := slices.Clone(all)
+		for _, c := range listCalls(inside) {
+			safely(t, c)
+			if !slices.Equal(all, before) {
+				t.Errorf("%s changed its argument of %d instructions or the memory around it", c.name, len(code))
+			}
+		}
+	}
+}
+
+func TestEqualLists(t *testing.T) {
+	for _, code := range edgeCode() {
+		inside, _ := within(code)
+		a, b := listCalls(slices.Clip(code)), listCalls(inside)
+		for i := range a {
+			if x, y := safely(t, a[i]), safely(t, b[i]); x != y {
+				t.Errorf("%s of %d instructions returns %q and %q", a[i].name, len(code), short(x), short(y))
+			}
+		}
+	}
+}
+
+// An empty slice and nil are the same argument.
+func TestEmptyLists(t *testing.T) {
+	a, b := listCalls(nil), listCalls([]impl.Instr{})
+	for i := range a {
+		if x, y := safely(t, a[i]), safely(t, b[i]); x != y {
+			t.Errorf("%s of nil returns %q, of an empty slice %q", a[i].name, x, y)
 		}
 	}
 }

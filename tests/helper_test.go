@@ -2,8 +2,11 @@ package tests
 
 import (
 	"math"
+	"slices"
 	"strings"
 	"testing"
+
+	"loop.example/g00684/impl"
 )
 
 // values of chapter 1.7, written out so that a wrong constant does not change what the tests expect
@@ -11,9 +14,10 @@ const (
 	smallestValue = -2147483648
 	largestValue  = 2147483647
 	longestText   = 65536
+	longestList   = 4096
 )
 
-// edgeInts holds integers at and beyond every limit of the first two chapters.
+// edgeInts holds integers at and beyond every limit of the first three chapters.
 func edgeInts() []int {
 	list := []int{math.MinInt, math.MinInt + 1, math.MaxInt, math.MaxInt - 1}
 	for _, shift := range []uint{7, 8, 15, 16, 31, 32, 33, 40, 48, 56, 61, 62} {
@@ -21,7 +25,7 @@ func edgeInts() []int {
 			list = append(list, 1<<shift+d, -1<<shift+d)
 		}
 	}
-	for n := -3; n <= 25; n++ {
+	for n := -3; n <= 42; n++ {
 		list = append(list, n)
 	}
 	return list
@@ -33,7 +37,20 @@ func edgeTexts() []string {
 	for _, n := range []int{0, 1, 2, 3, 4, 9, 10, 11, 19, 20, 21, 32767, 32768, 32769, 65525, 65526, 65527, 65535, 65536, 65537, 65538, 200000} {
 		list = append(list, strings.Repeat("a", n), strings.Repeat("\xff", n), strings.Repeat("\x00", n))
 	}
-	return append(list, "ok", "cut", "PLC1", "PLC1\x00\x00\x00\x00\xf6\x7d", "00ff", "0G", "_a9", "9a", "\xc3\xa9")
+	return append(list, "ok", "cut", "PLC1", "PLC1\x00\x00\x00\x00\xf6\x7d", "00ff", "0G", "_a9", "9a", "\xc3\xa9",
+		"push -5", " call  5 ", "add", "add 0", "load 16", strings.Repeat(" ", longestText-3)+"add", strings.Repeat(" ", longestText-2)+"add",
+		"\x01\xfe\xff\xff\xff\x11", "\x01\xfe\xff", "\x02\x02\x00\x00\x00", strings.Repeat("\x11", 40), strings.Repeat("\x11", 41), strings.Repeat("\x11", longestText), strings.Repeat("\x11", longestText+1))
+}
+
+// edgeCode holds lists of instructions, valid and invalid, at and beyond the limits of lengths.
+func edgeCode() [][]impl.Instr {
+	list := [][]impl.Instr{nil, {}, {{Op: math.MinInt, A: math.MaxInt}}, {{Op: 1, A: -2}, {Op: 17}, {Op: 4, A: 3}}, {{Op: 9, A: 1}}}
+	for _, n := range []int{1, 2, 39, 40, 41, longestList - 1, longestList, longestList + 1, 20000} {
+		for _, x := range []impl.Instr{{}, {Op: 17}, {Op: 1, A: largestValue}, {Op: 1, A: math.MinInt}, {Op: math.MaxInt}} {
+			list = append(list, slices.Repeat([]impl.Instr{x}, n))
+		}
+	}
+	return list
 }
 
 func isValue(n int) bool {
