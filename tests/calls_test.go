@@ -2,6 +2,7 @@ package tests
 
 import (
 	"fmt"
+	"math"
 	"slices"
 	"strings"
 	"sync"
@@ -42,9 +43,13 @@ func numberCalls(n int) []call {
 		{"CodeWord", func() string { return impl.CodeWord(n) }},
 		{"OpName", func() string { return impl.OpName(n) }},
 		{"CostOf", func() string { return fmt.Sprint(impl.CostOf(n)) }},
+		{"NewFb", func() string { return fmt.Sprint(impl.NewFb(n)) }},
+		{"TakesOf", func() string { return fmt.Sprint(impl.TakesOf(n)) }},
 	}
 	for _, m := range edgeInts() {
 		x := impl.Instr{Op: n, A: m}
+		f := impl.Fb{Kind: n, On: true, Start: m, Count: m}
+		list = append(list, call{"FbOK", func() string { return fmt.Sprint(impl.FbOK(f)) }})
 		list = append(list, call{"InstrOK", func() string { return fmt.Sprint(impl.InstrOK(x)) }})
 		list = append(list, call{"InstrText", func() string { r, c := impl.InstrText(x); return fmt.Sprint(c, r) }})
 		list = append(list, call{"PutNumber", func() string { r, c := impl.PutNumber(n, m); return fmt.Sprint(c, r) }})
@@ -61,6 +66,23 @@ func listCalls(code []impl.Instr) []call {
 	}
 }
 
+func fbCalls(f impl.Fb) []call {
+	list := []call{
+		{"FbOK", func() string { return fmt.Sprint(impl.FbOK(f)) }},
+		{"ValueOf", func() string { return fmt.Sprint(impl.ValueOf(f)) }},
+		{"FbText", func() string { return fmt.Sprint(impl.FbText(f)) }},
+	}
+	ends := []int{math.MinInt, smallestValue - 1, smallestValue, -1, 0, 1, largestValue, largestValue + 1, math.MaxInt}
+	for _, n := range ends {
+		for _, now := range ends {
+			for _, v := range []struct{ a, b bool }{{false, false}, {false, true}, {true, false}, {true, true}} {
+				list = append(list, call{"StepBlock", func() string { return fmt.Sprint(impl.StepBlock(f, v.a, v.b, n, now)) }})
+			}
+		}
+	}
+	return list
+}
+
 func allCalls() []call {
 	var list []call
 	for _, s := range edgeTexts() {
@@ -71,6 +93,9 @@ func allCalls() []call {
 	}
 	for _, code := range edgeCode() {
 		list = append(list, listCalls(code)...)
+	}
+	for _, f := range edgeFbs() {
+		list = append(list, fbCalls(f)...)
 	}
 	return list
 }
@@ -147,6 +172,19 @@ func TestListsStayUnchanged(t *testing.T) {
 			if !slices.Equal(all, before) {
 				t.Errorf("%s changed its argument of %d instructions or the memory around it", c.name, len(code))
 			}
+		}
+	}
+}
+
+// A block is passed by value, so this can fail only if Fb comes to hold memory that is shared.
+func TestFbsStayUnchanged(t *testing.T) {
+	list := edgeFbs()
+	for i, before := range edgeFbs() {
+		for _, c := range fbCalls(list[i]) {
+			safely(t, c)
+		}
+		if list[i] != before {
+			t.Errorf("the block %v became %v", before, list[i])
 		}
 	}
 }

@@ -53,6 +53,11 @@ func edgeCode() [][]impl.Instr {
 	return list
 }
 
+// edgeFbs holds function blocks, valid and invalid, at and beyond the ends of the ranges of their fields.
+func edgeFbs() []impl.Fb {
+	return append(validFbs(), invalidFbs()...)
+}
+
 func isValue(n int) bool {
 	return n >= smallestValue && n <= largestValue
 }
