@@ -61,8 +61,30 @@ func numberCalls(n int) []call {
 }
 
 func listCalls(code []impl.Instr) []call {
-	return []call{
+	list := []call{
 		{"CodeText", func() string { r, c := impl.CodeText(code); return fmt.Sprint(c, r) }},
+		{"CallsOf", func() string { return fmt.Sprint(impl.CallsOf(code)) }},
+	}
+	for _, at := range edgeIndices() {
+		list = append(list, call{"MatchOf", func() string { return fmt.Sprint(impl.MatchOf(code, at)) }})
+	}
+	return list
+}
+
+func verifyCalls(code []impl.Instr, kinds []int) []call {
+	var list []call
+	for _, routines := range []int{math.MinInt, -1, 0, 2, 6, 7, math.MaxInt} {
+		list = append(list, call{"VerifyCode", func() string { return fmt.Sprint(impl.VerifyCode(code, kinds, routines)) }})
+		for _, at := range edgeIndices() {
+			list = append(list, call{"StackAt", func() string { return fmt.Sprint(impl.StackAt(code, kinds, routines, at)) }})
+		}
+	}
+	return list
+}
+
+func routineCalls(routines []impl.Routine, kinds []int) []call {
+	return []call{
+		{"VerifyAll", func() string { return fmt.Sprint(impl.VerifyAll(routines, kinds)) }},
 	}
 }
 
@@ -96,6 +118,14 @@ func allCalls() []call {
 	}
 	for _, f := range edgeFbs() {
 		list = append(list, fbCalls(f)...)
+	}
+	for _, kinds := range edgeKinds() {
+		for _, code := range edgeCode() {
+			list = append(list, verifyCalls(code, kinds)...)
+		}
+		for _, routines := range edgeRoutines() {
+			list = append(list, routineCalls(routines, kinds)...)
+		}
 	}
 	return list
 }
@@ -155,23 +185,76 @@ func TestArgumentsStayUnchanged(t *testing.T) {
 }
 
 // within copies the list into the middle of a longer one; the second result is all of that memory.
-func within(code []impl.Instr) ([]impl.Instr, []impl.Instr) {
-	other := impl.Instr{Op: impl.OpPoke, A: 6}
-	all := slices.Repeat([]impl.Instr{other}, len(code)+100)
-	copy(all[3:], code)
-	return all[3 : 3+len(code)], all
+func within[E any](list []E, other E) ([]E, []E) {
+	all := slices.Repeat([]E{other}, len(list)+100)
+	copy(all[3:], list)
+	return all[3 : 3+len(list)], all
+}
+
+func withinCode(code []impl.Instr) ([]impl.Instr, []impl.Instr) {
+	return within(code, impl.Instr{Op: impl.OpPoke, A: 6})
 }
 
 // The elements before the slice and those in its unused capacity stay as they are too.
 func TestListsStayUnchanged(t *testing.T) {
 	for _, code := range edgeCode() {
-		inside, all := within(code)
+		inside, all := withinCode(code)
 		before := slices.Clone(all)
 		for _, c := range listCalls(inside) {
 			safely(t, c)
 			if !slices.Equal(all, before) {
 				t.Errorf("%s changed its argument of %d instructions or the memory around it", c.name, len(code))
 			}
+		}
+	}
+}
+
+func TestCodeAndKindsStayUnchanged(t *testing.T) {
+	for _, code := range edgeCode() {
+		insideCode, allCode := withinCode(code)
+		beforeCode := slices.Clone(allCode)
+		for _, kinds := range edgeKinds() {
+			insideKinds, allKinds := within(kinds, 4)
+			beforeKinds := slices.Clone(allKinds)
+			for _, c := range verifyCalls(insideCode, insideKinds) {
+				safely(t, c)
+			}
+			if !slices.Equal(allCode, beforeCode) || !slices.Equal(allKinds, beforeKinds) {
+				t.Errorf("%d instructions or %d kinds were changed, or the memory around them", len(code), len(kinds))
+			}
+		}
+	}
+}
+
+// withinRoutines copies a list with its code; the second result is the memory of the list, the third that of each code.
+func withinRoutines(list []impl.Routine) ([]impl.Routine, []impl.Routine, [][]impl.Instr) {
+	inside, all := within(list, impl.Routine{Code: parse("cut; end")})
+	memory := make([][]impl.Instr, len(inside))
+	for k := range inside {
+		inside[k].Code, memory[k] = withinCode(inside[k].Code)
+	}
+	return inside, all, memory
+}
+
+func sameRoutines(a, b []impl.Routine) bool {
+	return slices.EqualFunc(a, b, func(x, y impl.Routine) bool { return slices.Equal(x.Code, y.Code) })
+}
+
+func TestRoutinesStayUnchanged(t *testing.T) {
+	for _, list := range edgeRoutines() {
+		inside, all, memory := withinRoutines(list)
+		beforeAll := slices.Clone(all)
+		beforeMemory := make([][]impl.Instr, len(memory))
+		for k := range memory {
+			beforeMemory[k] = slices.Clone(memory[k])
+		}
+		for _, kinds := range edgeKinds() {
+			for _, c := range routineCalls(inside, kinds) {
+				safely(t, c)
+			}
+		}
+		if !sameRoutines(all, beforeAll) || !slices.EqualFunc(memory, beforeMemory, slices.Equal[[]impl.Instr]) {
+			t.Errorf("a list of %d routines was changed, or the memory around it or its code", len(list))
 		}
 	}
 }
@@ -189,25 +272,43 @@ func TestFbsStayUnchanged(t *testing.T) {
 	}
 }
 
+// wantSame expects equal results from two lists of the same calls.
+func wantSame(t *testing.T, a, b []call) {
+	t.Helper()
+	for i := range a {
+		if x, y := safely(t, a[i]), safely(t, b[i]); x != y {
+			t.Errorf("%s returns %q and %q for equal arguments", a[i].name, short(x), short(y))
+		}
+	}
+}
+
 func TestEqualLists(t *testing.T) {
 	for _, code := range edgeCode() {
-		inside, _ := within(code)
-		a, b := listCalls(slices.Clip(code)), listCalls(inside)
-		for i := range a {
-			if x, y := safely(t, a[i]), safely(t, b[i]); x != y {
-				t.Errorf("%s of %d instructions returns %q and %q", a[i].name, len(code), short(x), short(y))
-			}
+		inside, _ := withinCode(code)
+		wantSame(t, listCalls(slices.Clip(code)), listCalls(inside))
+		for _, kinds := range edgeKinds() {
+			insideKinds, _ := within(kinds, 5)
+			wantSame(t, verifyCalls(slices.Clip(code), slices.Clip(kinds)), verifyCalls(inside, insideKinds))
+		}
+	}
+	for _, list := range edgeRoutines() {
+		inside, _, _ := withinRoutines(list)
+		for _, kinds := range edgeKinds() {
+			wantSame(t, routineCalls(slices.Clip(list), kinds), routineCalls(inside, slices.Clone(kinds)))
 		}
 	}
 }
 
 // An empty slice and nil are the same argument.
 func TestEmptyLists(t *testing.T) {
-	a, b := listCalls(nil), listCalls([]impl.Instr{})
-	for i := range a {
-		if x, y := safely(t, a[i]), safely(t, b[i]); x != y {
-			t.Errorf("%s of nil returns %q, of an empty slice %q", a[i].name, x, y)
-		}
+	wantSame(t, listCalls(nil), listCalls([]impl.Instr{}))
+	for _, code := range edgeCode() {
+		wantSame(t, verifyCalls(code, nil), verifyCalls(code, []int{}))
+	}
+	for _, kinds := range edgeKinds() {
+		wantSame(t, verifyCalls(nil, kinds), verifyCalls([]impl.Instr{}, kinds))
+		wantSame(t, routineCalls(nil, kinds), routineCalls([]impl.Routine{}, kinds))
+		wantSame(t, routineCalls(make([]impl.Routine, 6), kinds), routineCalls(slices.Repeat([]impl.Routine{{Code: []impl.Instr{}}}, 6), kinds))
 	}
 }
 

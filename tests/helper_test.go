@@ -44,11 +44,40 @@ func edgeTexts() []string {
 
 // edgeCode holds lists of instructions, valid and invalid, at and beyond the limits of lengths.
 func edgeCode() [][]impl.Instr {
-	list := [][]impl.Instr{nil, {}, {{Op: math.MinInt, A: math.MaxInt}}, {{Op: 1, A: -2}, {Op: 17}, {Op: 4, A: 3}}, {{Op: 9, A: 1}}}
+	list := [][]impl.Instr{nil, {}, {{Op: math.MinInt, A: math.MaxInt}}, {{Op: 1, A: -2}, {Op: 17}, {Op: 4, A: 3}}, {{Op: 9, A: 1}},
+		parse("push 7; in 1; if; push 1; push 2; less; out 0; else; repeat 2; call 1; call 0; end; end; store 1"),
+		parse("in 0; in 1; push 3; block 1; if; value 1; store 0"), parse("repeat 1; else; else; end; end; call 5; call 5"),
+		slices.Repeat(parse("push 1"), 9), slices.Repeat(parse("repeat 1"), 5)}
 	for _, n := range []int{1, 2, 39, 40, 41, longestList - 1, longestList, longestList + 1, 20000} {
 		for _, x := range []impl.Instr{{}, {Op: 17}, {Op: 1, A: largestValue}, {Op: 1, A: math.MinInt}, {Op: math.MaxInt}} {
 			list = append(list, slices.Repeat([]impl.Instr{x}, n))
 		}
+	}
+	return list
+}
+
+// edgeIndices holds indices in code, and at and beyond its ends.
+func edgeIndices() []int {
+	return []int{math.MinInt, -1, 0, 1, 2, 5, 8, 39, 40, 41, longestList, longestList + 1, math.MaxInt}
+}
+
+// edgeKinds holds lists of kinds, valid and invalid, at and beyond the limits of lengths.
+func edgeKinds() [][]int {
+	list := [][]int{nil, {}, {1}, {1, 2, 3, 4}, {4, 3, 2, 1, 1, 2, 3, 4}, {0}, {5}, {1, 2, math.MinInt}, {math.MaxInt}}
+	for _, n := range []int{9, longestList, longestList + 1} {
+		list = append(list, slices.Repeat([]int{2}, n))
+	}
+	return list
+}
+
+// edgeRoutines holds lists of routines, valid and invalid, at and beyond the limits of lengths.
+func edgeRoutines() [][]impl.Routine {
+	list := [][]impl.Routine{nil, {}, routinesOf("cut", "call 0", "call 1; call 0"), routinesOf("cut", "call 1"), routinesOf("add", "in 0; push 1; block 0; out 0")}
+	for _, n := range []int{1, 6, 7, longestList, longestList + 1} {
+		list = append(list, make([]impl.Routine, n), slices.Repeat(routinesOf("push 1"), n))
+	}
+	for _, code := range edgeCode() {
+		list = append(list, []impl.Routine{{}, {Code: code}, {Code: slices.Clone(code)}})
 	}
 	return list
 }
