@@ -46,8 +46,13 @@ func numberCalls(n int) []call {
 		{"NewFb", func() string { return fmt.Sprint(impl.NewFb(n)) }},
 		{"TakesOf", func() string { return fmt.Sprint(impl.TakesOf(n)) }},
 	}
+	for _, cut := range []bool{false, true} {
+		list = append(list, call{"OneCost", func() string { return fmt.Sprint(impl.OneCost(n, cut)) }})
+	}
 	for _, m := range edgeInts() {
 		x := impl.Instr{Op: n, A: m}
+		a := impl.Summary{Total: n, None: m, Head: n, Tail: m, Inner: n}
+		list = append(list, call{"SummaryOK", func() string { return fmt.Sprint(impl.SummaryOK(a)) }})
 		f := impl.Fb{Kind: n, On: true, Start: m, Count: m}
 		list = append(list, call{"FbOK", func() string { return fmt.Sprint(impl.FbOK(f)) }})
 		list = append(list, call{"InstrOK", func() string { return fmt.Sprint(impl.InstrOK(x)) }})
@@ -85,7 +90,23 @@ func verifyCalls(code []impl.Instr, kinds []int) []call {
 func routineCalls(routines []impl.Routine, kinds []int) []call {
 	return []call{
 		{"VerifyAll", func() string { return fmt.Sprint(impl.VerifyAll(routines, kinds)) }},
+		{"CostsOf", func() string { return fmt.Sprint(impl.CostsOf(routines, kinds)) }},
 	}
+}
+
+func summaryCalls(a impl.Summary) []call {
+	list := []call{
+		{"SummaryOK", func() string { return fmt.Sprint(impl.SummaryOK(a)) }},
+		{"LongestOf", func() string { return fmt.Sprint(impl.LongestOf(a)) }},
+	}
+	for _, n := range edgeInts() {
+		list = append(list, call{"Times", func() string { return fmt.Sprint(impl.Times(a, n)) }})
+	}
+	for _, b := range edgeSummaries() {
+		list = append(list, call{"Behind", func() string { return fmt.Sprint(impl.Behind(a, b)) }})
+		list = append(list, call{"Either", func() string { return fmt.Sprint(impl.Either(a, b)) }})
+	}
+	return list
 }
 
 func fbCalls(f impl.Fb) []call {
@@ -118,6 +139,9 @@ func allCalls() []call {
 	}
 	for _, f := range edgeFbs() {
 		list = append(list, fbCalls(f)...)
+	}
+	for _, a := range edgeSummaries() {
+		list = append(list, summaryCalls(a)...)
 	}
 	for _, kinds := range edgeKinds() {
 		for _, code := range edgeCode() {
@@ -259,17 +283,23 @@ func TestRoutinesStayUnchanged(t *testing.T) {
 	}
 }
 
-// A block is passed by value, so this can fail only if Fb comes to hold memory that is shared.
-func TestFbsStayUnchanged(t *testing.T) {
-	list := edgeFbs()
-	for i, before := range edgeFbs() {
-		for _, c := range fbCalls(list[i]) {
+func wantUnchanged[E comparable](t *testing.T, values func() []E, calls func(E) []call) {
+	t.Helper()
+	list := values()
+	for i, before := range values() {
+		for _, c := range calls(list[i]) {
 			safely(t, c)
 		}
 		if list[i] != before {
-			t.Errorf("the block %v became %v", before, list[i])
+			t.Errorf("the argument %v became %v", before, list[i])
 		}
 	}
+}
+
+// Blocks and summaries are passed by value, so this can fail only if they come to hold memory that is shared.
+func TestValuesStayUnchanged(t *testing.T) {
+	wantUnchanged(t, edgeFbs, fbCalls)
+	wantUnchanged(t, edgeSummaries, summaryCalls)
 }
 
 // wantSame expects equal results from two lists of the same calls.

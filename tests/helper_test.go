@@ -72,7 +72,8 @@ func edgeKinds() [][]int {
 
 // edgeRoutines holds lists of routines, valid and invalid, at and beyond the limits of lengths.
 func edgeRoutines() [][]impl.Routine {
-	list := [][]impl.Routine{nil, {}, routinesOf("cut", "call 0", "call 1; call 0"), routinesOf("cut", "call 1"), routinesOf("add", "in 0; push 1; block 0; out 0")}
+	list := [][]impl.Routine{nil, {}, routinesOf("cut", "call 0", "call 1; call 0"), routinesOf("cut", "call 1"), routinesOf("add", "in 0; push 1; block 0; out 0"),
+		routinesOf("in 0; if; cut; else; repeat 20; load 0; store 0; end; end", "repeat 20; call 0; in 1; if; cut; end; end", "repeat 20; repeat 20; call 1; call 0; end; end")}
 	for _, n := range []int{1, 6, 7, longestList, longestList + 1} {
 		list = append(list, make([]impl.Routine, n), slices.Repeat(routinesOf("push 1"), n))
 	}

@@ -81,19 +81,18 @@ func TestStackAtOfRejectedCode(t *testing.T) {
 	}
 }
 
-// A machine executes types instead of values; each if goes as the source of chance says.
+// A machine finds its way through code without values; each if goes as choose says.
 type machine struct {
-	code  []impl.Instr
-	kinds []int
-	r     *rand.Rand
-	other map[int]int // the else of an if
-	end   map[int]int // the end of an if, a repeat or an else
-	loops []int       // remaining iterations of the open repeats, innermost last
-	begun []int       // their indices
+	code   []impl.Instr
+	choose func() bool
+	other  map[int]int // the else of an if
+	end    map[int]int // the end of an if, a repeat or an else
+	loops  []int       // remaining iterations of the open repeats, innermost last
+	begun  []int       // their indices
 }
 
-func newMachine(code []impl.Instr, kinds []int, r *rand.Rand) *machine {
-	m := &machine{code: code, kinds: kinds, r: r, other: map[int]int{}, end: map[int]int{}}
+func newMachine(code []impl.Instr, choose func() bool) *machine {
+	m := &machine{code: code, choose: choose, other: map[int]int{}, end: map[int]int{}}
 	var open []int
 	for i, x := range code {
 		switch x.Op {
@@ -113,12 +112,16 @@ func newMachine(code []impl.Instr, kinds []int, r *rand.Rand) *machine {
 	return m
 }
 
+func byChance(r *rand.Rand) func() bool {
+	return func() bool { return r.Intn(2) > 0 }
+}
+
 // next returns the index that is executed behind at.
 func (m *machine) next(at int) int {
 	last := len(m.loops) - 1
 	switch m.code[at].Op {
 	case 21:
-		if m.r.Intn(2) == 0 {
+		if !m.choose() {
 			if other, ok := m.other[at]; ok {
 				return other + 1
 			}
@@ -144,7 +147,7 @@ func (m *machine) next(at int) int {
 // However accepted code is executed, the stack is the one that StackAt tells.
 func checkExecution(t *testing.T, code []impl.Instr, kinds []int, before []string, r *rand.Rand) {
 	t.Helper()
-	m := newMachine(code, kinds, r)
+	m := newMachine(code, byChance(r))
 	stack, at := "", 0
 	for range 2000 {
 		if stack != before[at] || len(stack) > 8 {
