@@ -126,6 +126,60 @@ func fbCalls(f impl.Fb) []call {
 	return list
 }
 
+func kindsCalls(kinds []int) []call {
+	return []call{{"NewData", func() string { return fmt.Sprint(impl.NewData(kinds)) }}}
+}
+
+func dataCalls(d impl.Data) []call {
+	return []call{
+		{"DataOK", func() string { return fmt.Sprint(impl.DataOK(d)) }},
+		{"KindsOf", func() string { return fmt.Sprint(impl.KindsOf(d)) }},
+		{"SameData", func() string {
+			return fmt.Sprint(impl.SameData(d, d), impl.SameData(d, newData()), impl.SameData(newData(), d))
+		}},
+	}
+}
+
+func applyCalls(d impl.Data, stack []int) []call {
+	var list []call
+	for _, now := range edgeTimes() {
+		for _, x := range edgeInstrs() {
+			list = append(list, call{"ApplyOp", func() string { return fmt.Sprint(impl.ApplyOp(d, x, stack, now)) }})
+		}
+	}
+	return list
+}
+
+func runCalls(routines []impl.Routine, d impl.Data) []call {
+	var list []call
+	for _, now := range edgeTimes() {
+		for _, k := range []int{math.MinInt, -1, 0, 1, 2, len(routines) - 1, len(routines), math.MaxInt} {
+			list = append(list, call{"TreeRun", func() string { return fmt.Sprint(impl.TreeRun(routines, k, d, now)) }})
+		}
+	}
+	return list
+}
+
+// stateCalls holds calls with every state.
+func stateCalls() []call {
+	var list []call
+	for _, d := range edgeDatas() {
+		list = append(list, dataCalls(d)...)
+		for _, stack := range edgeStacks() {
+			list = append(list, applyCalls(d, stack)...)
+		}
+	}
+	for i, routines := range edgeRoutines() {
+		for k, d := range edgeDatas() {
+			// Every list with the first state, and with others in turn.
+			if k == 0 || (i+k)%8 == 0 {
+				list = append(list, runCalls(routines, d)...)
+			}
+		}
+	}
+	return list
+}
+
 func allCalls() []call {
 	var list []call
 	for _, s := range edgeTexts() {
@@ -144,6 +198,7 @@ func allCalls() []call {
 		list = append(list, summaryCalls(a)...)
 	}
 	for _, kinds := range edgeKinds() {
+		list = append(list, kindsCalls(kinds)...)
 		for _, code := range edgeCode() {
 			list = append(list, verifyCalls(code, kinds)...)
 		}
@@ -151,7 +206,7 @@ func allCalls() []call {
 			list = append(list, routineCalls(routines, kinds)...)
 		}
 	}
-	return list
+	return append(list, stateCalls()...)
 }
 
 func safely(t *testing.T, c call) string {

@@ -223,19 +223,24 @@ func TestBoundsOfAllSmallCode(t *testing.T) {
 	eachPart(4, func(text string) { checkAllExecutions(t, "load 0; store 0", text) })
 }
 
+// repeatLess leaves about one repeat of n as it is, and gives the others at most three iterations.
+func repeatLess(r *rand.Rand, list []impl.Routine, n int) {
+	for k := range list {
+		for i, x := range list[k].Code {
+			if x.Op == 24 && r.Intn(n) > 0 {
+				list[k].Code[i].A = 1 + x.A%3
+			}
+		}
+	}
+}
+
 func TestBoundsOfRandomRoutines(t *testing.T) {
 	r := rand.New(rand.NewSource(25))
 	all, some := 0, 0
 	for range 3000 {
 		kinds := randomKinds(r)
 		list := acceptedRoutines(r, kinds, 40)
-		for k := range list {
-			for i, x := range list[k].Code {
-				if x.Op == 24 && r.Intn(8) > 0 {
-					list[k].Code[i].A = 1 + x.A%3
-				}
-			}
-		}
+		repeatLess(r, list, 8)
 		sums := costsOf(t, list, kinds)
 		if sums[len(sums)-1].Total > 3000 {
 			continue

@@ -1,6 +1,7 @@
 package tests
 
 import (
+	"fmt"
 	"math"
 	"slices"
 	"strings"
@@ -88,6 +89,29 @@ func edgeFbs() []impl.Fb {
 	return append(validFbs(), invalidFbs()...)
 }
 
+// edgeStacks holds stacks, with and without values, at and beyond the limits of lengths.
+func edgeStacks() [][]int {
+	list := [][]int{nil, {}, {1}, {2}, {0, 1}, {1, 0, 5}, {7, 1, largestValue, 1}, {math.MaxInt, 0, 0, 0}, {0, 0, math.MinInt}}
+	for _, n := range []int{7, 8, 9, 10, 11, longestList - 1, longestList, longestList + 1} {
+		list = append(list, slices.Repeat([]int{1}, n))
+	}
+	return list
+}
+
+// edgeInstrs holds instructions of every operation, and invalid ones.
+func edgeInstrs() []impl.Instr {
+	list := []impl.Instr{{}, {Op: 27}, {Op: math.MinInt}, {Op: math.MaxInt, A: math.MinInt}, {Op: 9, A: 1}, {Op: 19, A: 8}, {Op: 1, A: largestValue + 1}}
+	for _, row := range opTable() {
+		list = append(list, impl.Instr{Op: row.number, A: max(row.low, 0)}, impl.Instr{Op: row.number, A: row.high})
+	}
+	return list
+}
+
+// edgeTimes holds times at and beyond the ends of their range.
+func edgeTimes() []int {
+	return []int{math.MinInt, -1, 0, largestValue - 1, largestValue, largestValue + 1, math.MaxInt}
+}
+
 func isValue(n int) bool {
 	return n >= smallestValue && n <= largestValue
 }
@@ -99,6 +123,10 @@ func allBytes() string {
 		b[i] = byte(i)
 	}
 	return string(b)
+}
+
+func shown(x any) string {
+	return fmt.Sprint(x)
 }
 
 // short keeps messages about long texts readable.

@@ -1,0 +1,229 @@
+package tests
+
+import (
+	"math/rand"
+	"slices"
+	"testing"
+
+	"loop.example/g00684/impl"
+)
+
+// A part is a slice of an argument or of a result, with its unused capacity and, for an argument, what is around it.
+type part struct {
+	name  string
+	size  int
+	keep  func() func() bool // the second function reports whether all elements are as they were when the first one was called
+	spoil func()             // changes every element
+}
+
+func partOf[E comparable](name string, list []E, other func(E) E) part {
+	all := list[:cap(list)]
+	keep := func() func() bool {
+		before := slices.Clone(all)
+		return func() bool { return slices.Equal(all, before) }
+	}
+	return part{name, len(all), keep, func() {
+		for i, e := range all {
+			all[i] = other(e)
+		}
+	}}
+}
+
+func intsPart(name string, list []int) part {
+	return partOf(name, list, func(n int) int { return ^n })
+}
+
+func boolsPart(name string, list []bool) part {
+	return partOf(name, list, func(b bool) bool { return !b })
+}
+
+// partsOf returns the slices of a state.
+func partsOf(d impl.Data) []part {
+	return []part{
+		intsPart("Globals", d.Globals),
+		partOf("Blocks", d.Blocks, func(f impl.Fb) impl.Fb { return impl.Fb{Kind: f.Kind + 1, On: !f.On, Start: ^f.Start, Count: ^f.Count} }),
+		boolsPart("Latched", d.Latched), boolsPart("Pins", d.Pins), boolsPart("Outs", d.Outs), boolsPart("Wires", d.Wires),
+	}
+}
+
+// withinData copies each slice into the middle of a longer one; the second result has that memory.
+func withinData(d impl.Data) (impl.Data, impl.Data) {
+	all := d
+	d.Globals, all.Globals = within(d.Globals, 17)
+	d.Blocks, all.Blocks = within(d.Blocks, impl.Fb{Kind: 2, Count: 3})
+	for i, pins := range pinsOf(&d) {
+		*pins, *pinsOf(&all)[i] = within(*pins, true)
+	}
+	return d, all
+}
+
+// keepAll returns a function that names the parts which were changed since.
+func keepAll(list []part) func() []string {
+	var tests []func() bool
+	for _, p := range list {
+		tests = append(tests, p.keep())
+	}
+	return func() []string {
+		var names []string
+		for i, same := range tests {
+			if !same() {
+				names = append(names, list[i].name)
+			}
+		}
+		return names
+	}
+}
+
+// wantApart calls a function that returns slices. The arguments stay unchanged, then and when a result is changed, and so do the other results.
+func wantApart(t *testing.T, name string, arguments []part, results func() []part) {
+	t.Helper()
+	changes := keepAll(arguments)
+	list := results()
+	if names := changes(); len(names) > 0 {
+		t.Fatal(name, "changed its arguments or the memory around them:", names)
+	}
+	for i, p := range list {
+		if p.size == 0 {
+			continue
+		}
+		changes := keepAll(slices.Concat(arguments, list[:i], list[i+1:]))
+		p.spoil()
+		if names := changes(); len(names) > 0 {
+			t.Fatal(name, "returns", p.name, "in the memory of", names)
+		}
+	}
+}
+
+func TestDataIsApart(t *testing.T) {
+	for _, kinds := range edgeKinds() {
+		inside, all := within(kinds, 3)
+		arguments := []part{intsPart("kinds", all)}
+		wantApart(t, "NewData", arguments, func() []part {
+			d, _ := impl.NewData(inside)
+			return partsOf(d)
+		})
+	}
+	for _, d := range edgeDatas() {
+		inside, all := withinData(d)
+		wantApart(t, "KindsOf", partsOf(all), func() []part {
+			kinds, _ := impl.KindsOf(inside)
+			return []part{intsPart("kinds", kinds)}
+		})
+		wantApart(t, "DataOK and SameData", partsOf(all), func() []part {
+			impl.DataOK(inside)
+			impl.SameData(inside, inside)
+			impl.SameData(inside, d)
+			impl.SameData(d, inside)
+			return nil
+		})
+	}
+}
+
+func TestApplyIsApart(t *testing.T) {
+	for _, d := range edgeDatas() {
+		insideData, allData := withinData(d)
+		for _, stack := range edgeStacks() {
+			insideStack, allStack := within(stack, 1)
+			arguments := append(partsOf(allData), intsPart("stack", allStack))
+			for _, x := range edgeInstrs() {
+				wantApart(t, "ApplyOp", arguments, func() []part {
+					y, list, _ := impl.ApplyOp(insideData, x, insideStack, 5)
+					return append(partsOf(y), intsPart("the resulting stack", list))
+				})
+			}
+		}
+	}
+}
+
+// routineParts returns the memory of a list and of its code.
+func routineParts(all []impl.Routine, memory [][]impl.Instr) []part {
+	list := []part{{name: "list", keep: func() func() bool {
+		before := slices.Clone(all)
+		return func() bool { return sameRoutines(all, before) }
+	}}}
+	for _, code := range memory {
+		list = append(list, partOf("code", code, func(x impl.Instr) impl.Instr { return impl.Instr{Op: ^x.Op, A: ^x.A} }))
+	}
+	return list
+}
+
+func wantRunApart(t *testing.T, list []impl.Routine, d impl.Data) {
+	t.Helper()
+	for k := range min(len(list)+1, 7) {
+		insideData, allData := withinData(d)
+		inside, all, memory := withinRoutines(list)
+		wantApart(t, "TreeRun", append(partsOf(allData), routineParts(all, memory)...), func() []part {
+			y, _, _ := impl.TreeRun(inside, k, insideData, 5)
+			return partsOf(y)
+		})
+	}
+}
+
+func TestRunIsApart(t *testing.T) {
+	r := rand.New(rand.NewSource(51))
+	for range 300 {
+		kinds := randomKinds(r)
+		wantRunApart(t, acceptedRoutines(r, kinds, 30), mixedData(r, kinds))
+	}
+	for _, list := range edgeRoutines() {
+		if len(list) <= 7 {
+			wantRunApart(t, list, mixedData(r, fullKinds()))
+			wantRunApart(t, list, impl.Data{Blocks: []impl.Fb{{}}})
+		}
+	}
+}
+
+// A state whose lists are one and the same slice has an operation applied to one of them only.
+func TestSharedArguments(t *testing.T) {
+	pins := make([]bool, 8)
+	d := newData(3)
+	d.Latched, d.Pins, d.Outs, d.Wires = pins, pins, pins, pins
+	for _, v := range []struct {
+		text string
+		want impl.Data
+	}{
+		{"out 2", changed(d, func(d *impl.Data) { d.Outs[2] = true })},
+		{"poke 2", changed(d, func(d *impl.Data) { d.Outs[2], d.Wires[2] = true, true })},
+	} {
+		y, _, code := impl.ApplyOp(d, one(v.text), []int{1}, 0)
+		if code != 0 || !equalData(y, v.want) || slices.Contains(pins, true) {
+			t.Error(v.text, y, code, "want", v.want)
+		}
+		y, _, code = impl.TreeRun(routinesOf("flag 1;"+v.text), 0, d, 0)
+		if code != 0 || !equalData(y, v.want) || slices.Contains(pins, true) {
+			t.Error(v.text, y, code, "want", v.want)
+		}
+	}
+	wantApart(t, "NewData", nil, func() []part {
+		d, _ := impl.NewData(fullKinds())
+		return partsOf(d)
+	})
+}
+
+// The same arguments in other memory, and nil in place of empty lists, yield the same results.
+func TestEqualStates(t *testing.T) {
+	for _, kinds := range edgeKinds() {
+		inside, _ := within(kinds, 3)
+		wantSame(t, kindsCalls(kinds), kindsCalls(inside))
+	}
+	for _, d := range edgeDatas() {
+		inside, _ := withinData(d)
+		wantSame(t, dataCalls(d), dataCalls(inside))
+		for _, stack := range edgeStacks() {
+			insideStack, _ := within(stack, 1)
+			wantSame(t, applyCalls(d, stack), applyCalls(inside, insideStack))
+		}
+		for _, list := range edgeRoutines()[:12] {
+			insideList, _, _ := withinRoutines(list)
+			wantSame(t, runCalls(list, d), runCalls(insideList, inside))
+		}
+	}
+	full, none := newData(), changed(newData(), func(d *impl.Data) { d.Blocks = []impl.Fb{} })
+	wantSame(t, kindsCalls(nil), kindsCalls([]int{}))
+	wantSame(t, dataCalls(full), dataCalls(none))
+	wantSame(t, applyCalls(full, nil), applyCalls(none, []int{}))
+	wantSame(t, runCalls(nil, full), runCalls([]impl.Routine{}, none))
+	wantSame(t, runCalls(make([]impl.Routine, 6), full), runCalls(slices.Repeat([]impl.Routine{{Code: []impl.Instr{}}}, 6), none))
+	empty := impl.Data{Globals: []int{}, Blocks: []impl.Fb{}, Latched: []bool{}, Pins: []bool{}, Outs: []bool{}, Wires: []bool{}}
+	wantSame(t, dataCalls(impl.Data{}), dataCalls(empty))
+}
