@@ -80,6 +80,7 @@ func verifyCalls(code []impl.Instr, kinds []int) []call {
 	var list []call
 	for _, routines := range []int{math.MinInt, -1, 0, 2, 6, 7, math.MaxInt} {
 		list = append(list, call{"VerifyCode", func() string { return fmt.Sprint(impl.VerifyCode(code, kinds, routines)) }})
+		list = append(list, call{"FlatOf", func() string { return fmt.Sprint(impl.FlatOf(code, kinds, routines)) }})
 		for _, at := range edgeIndices() {
 			list = append(list, call{"StackAt", func() string { return fmt.Sprint(impl.StackAt(code, kinds, routines, at)) }})
 		}
@@ -88,10 +89,32 @@ func verifyCalls(code []impl.Instr, kinds []int) []call {
 }
 
 func routineCalls(routines []impl.Routine, kinds []int) []call {
-	return []call{
+	list := []call{
 		{"VerifyAll", func() string { return fmt.Sprint(impl.VerifyAll(routines, kinds)) }},
 		{"CostsOf", func() string { return fmt.Sprint(impl.CostsOf(routines, kinds)) }},
 	}
+	for _, k := range []int{math.MinInt, -1, 0, 1, 2, len(routines) - 1, len(routines), math.MaxInt} {
+		list = append(list, call{"NewCore", func() string { return fmt.Sprint(impl.NewCore(routines, kinds, k)) }})
+	}
+	return list
+}
+
+func coreCalls(routines []impl.Routine, kinds []int, c impl.Core) []call {
+	return []call{
+		{"CoreOK", func() string { return fmt.Sprint(impl.CoreOK(routines, kinds, c)) }},
+		{"SameCore", func() string {
+			return fmt.Sprint(impl.SameCore(c, c), impl.SameCore(c, impl.Core{}), impl.SameCore(impl.Core{}, c))
+		}},
+	}
+}
+
+func stepCalls(routines []impl.Routine, d impl.Data, c impl.Core) []call {
+	var list []call
+	for _, now := range edgeTimes() {
+		list = append(list, call{"StepCore", func() string { return fmt.Sprint(impl.StepCore(routines, d, c, now)) }})
+		list = append(list, call{"BlockRun", func() string { return fmt.Sprint(impl.BlockRun(routines, d, c, now)) }})
+	}
+	return list
 }
 
 func summaryCalls(a impl.Summary) []call {
@@ -155,6 +178,7 @@ func runCalls(routines []impl.Routine, d impl.Data) []call {
 	for _, now := range edgeTimes() {
 		for _, k := range []int{math.MinInt, -1, 0, 1, 2, len(routines) - 1, len(routines), math.MaxInt} {
 			list = append(list, call{"TreeRun", func() string { return fmt.Sprint(impl.TreeRun(routines, k, d, now)) }})
+			list = append(list, call{"FlatRun", func() string { return fmt.Sprint(impl.FlatRun(routines, k, d, now)) }})
 		}
 	}
 	return list
@@ -175,6 +199,25 @@ func stateCalls() []call {
 			if k == 0 || (i+k)%8 == 0 {
 				list = append(list, runCalls(routines, d)...)
 			}
+		}
+	}
+	return list
+}
+
+// moveCalls holds calls with every core.
+func moveCalls() []call {
+	var list []call
+	routines, _ := callers()
+	for _, c := range edgeCores() {
+		for _, kinds := range edgeKinds() {
+			list = append(list, coreCalls(routines, kinds, c)...)
+		}
+		for _, d := range edgeDatas() {
+			list = append(list, stepCalls(routines, d, c)...)
+		}
+		for _, other := range edgeRoutines() {
+			list = append(list, coreCalls(other, nil, c)...)
+			list = append(list, stepCalls(other, newData(), c)...)
 		}
 	}
 	return list
@@ -206,7 +249,7 @@ func allCalls() []call {
 			list = append(list, routineCalls(routines, kinds)...)
 		}
 	}
-	return append(list, stateCalls()...)
+	return slices.Concat(list, stateCalls(), moveCalls())
 }
 
 func safely(t *testing.T, c call) string {

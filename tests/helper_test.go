@@ -98,6 +98,21 @@ func edgeStacks() [][]int {
 	return list
 }
 
+// edgeCores holds cores, valid ones of callers and others, with fields and lists at and beyond their limits.
+func edgeCores() []impl.Core {
+	_, c := callers()
+	list := []impl.Core{c, {}, {Frames: []impl.Frame{}, Stack: []int{}}, coreOf([]int{1}), coreOf(nil, frameAt(0, 0)), coreOf(nil, frameAt(1, 0)), coreOf(nil, frameAt(5, 1), frameAt(4, 0)),
+		coreOf([]int{4, 1}, frameAt(1, 2)), coreOf([]int{4, 1}, frameAt(1, 3, 3)), coreOf([]int{4, 1}, frameAt(1, 3, 4)), coreOf([]int{4, 2}, frameAt(1, 3, 3)), coreOf([]int{math.MaxInt}, frameAt(0, 1)),
+		coreOf(nil, make([]impl.Frame, 6)...), coreOf(nil, make([]impl.Frame, 7)...), coreOf(make([]int, 48), frameAt(0, 1)), coreOf(make([]int, 49), frameAt(0, 1))}
+	for _, n := range []int{math.MinInt, -1, 6, 40, 41, math.MaxInt} {
+		list = append(list, coreOf(nil, frameAt(n, 0)), coreOf(nil, frameAt(0, n)), coreOf(nil, frameAt(n, n), frameAt(n, n)), coreOf([]int{0, n}, frameAt(1, 6, n, n)))
+	}
+	for _, n := range []int{longestList, longestList + 1} {
+		list = append(list, coreOf(nil, make([]impl.Frame, n)...), coreOf(make([]int, n), frameAt(0, 1)), coreOf(nil, frameAt(0, 0, make([]int, n)...)))
+	}
+	return list
+}
+
 // edgeInstrs holds instructions of every operation, and invalid ones.
 func edgeInstrs() []impl.Instr {
 	list := []impl.Instr{{}, {Op: 27}, {Op: math.MinInt}, {Op: math.MaxInt, A: math.MinInt}, {Op: 9, A: 1}, {Op: 19, A: 8}, {Op: 1, A: largestValue + 1}}
@@ -133,6 +148,15 @@ func shown(x any) string {
 func short(t string) string {
 	if len(t) > 40 {
 		return t[:40] + ".."
+	}
+	return t
+}
+
+// brief is for messages about structures.
+func brief(x any) string {
+	t := shown(x)
+	if len(t) > 300 {
+		return t[:300] + ".."
 	}
 	return t
 }

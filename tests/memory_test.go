@@ -57,6 +57,45 @@ func withinData(d impl.Data) (impl.Data, impl.Data) {
 	return d, all
 }
 
+// framesPart is like partOf. A frame changes if another list of counters takes the place of its own; the counters are parts themselves.
+func framesPart(list []impl.Frame) part {
+	all := list[:cap(list)]
+	same := func(f, g impl.Frame) bool {
+		return f.Routine == g.Routine && f.Pc == g.Pc && len(f.Loops) == len(g.Loops) && (len(f.Loops) == 0 || &f.Loops[0] == &g.Loops[0])
+	}
+	keep := func() func() bool {
+		before := slices.Clone(all)
+		return func() bool { return slices.EqualFunc(all, before, same) }
+	}
+	return part{"Frames", len(all), keep, func() {
+		for i, f := range all {
+			all[i] = impl.Frame{Routine: ^f.Routine, Pc: ^f.Pc, Loops: []int{1}}
+		}
+	}}
+}
+
+// coreParts returns the slices of a core, also those of frames in unused capacity.
+func coreParts(c impl.Core) []part {
+	list := []part{framesPart(c.Frames), intsPart("Stack", c.Stack)}
+	for _, f := range c.Frames[:cap(c.Frames)] {
+		list = append(list, intsPart("Loops", f.Loops))
+	}
+	return list
+}
+
+// withinCore copies each slice into the middle of a longer one; the parts are that memory.
+func withinCore(c impl.Core) (impl.Core, []part) {
+	stack, allStack := within(c.Stack, 1)
+	frames, allFrames := within(c.Frames, impl.Frame{Pc: 1, Loops: []int{2}})
+	list := []part{framesPart(allFrames), intsPart("Stack", allStack)}
+	for i, f := range frames {
+		loops, all := within(f.Loops, 2)
+		frames[i].Loops = loops
+		list = append(list, intsPart("Loops", all))
+	}
+	return coreOf(stack, frames...), list
+}
+
 // keepAll returns a function that names the parts which were changed since.
 func keepAll(list []part) func() []string {
 	var tests []func() bool
@@ -156,6 +195,10 @@ func wantRunApart(t *testing.T, list []impl.Routine, d impl.Data) {
 			y, _, _ := impl.TreeRun(inside, k, insideData, 5)
 			return partsOf(y)
 		})
+		wantApart(t, "FlatRun", append(partsOf(allData), routineParts(all, memory)...), func() []part {
+			y, _, _, _ := impl.FlatRun(inside, k, insideData, 5)
+			return partsOf(y)
+		})
 	}
 }
 
@@ -170,6 +213,88 @@ func TestRunIsApart(t *testing.T) {
 			wantRunApart(t, list, mixedData(r, fullKinds()))
 			wantRunApart(t, list, impl.Data{Blocks: []impl.Fb{{}}})
 		}
+	}
+}
+
+func flatsPart(list []impl.Flat) part {
+	return partOf("instructions", list, func(x impl.Flat) impl.Flat { return impl.Flat{Op: ^x.Op, A: ^x.A, To: ^x.To} })
+}
+
+func TestFlatIsApart(t *testing.T) {
+	for _, code := range edgeCode() {
+		insideCode, allCode := withinCode(code)
+		for _, kinds := range edgeKinds() {
+			insideKinds, allKinds := within(kinds, 3)
+			arguments := []part{intsPart("kinds", allKinds), partOf("code", allCode, func(x impl.Instr) impl.Instr { return impl.Instr{Op: ^x.Op, A: ^x.A} })}
+			wantApart(t, "FlatOf", arguments, func() []part {
+				list, _ := impl.FlatOf(insideCode, insideKinds, 2)
+				return []part{flatsPart(list)}
+			})
+		}
+	}
+}
+
+// wantStepApart executes a step and a block.
+func wantStepApart(t *testing.T, list []impl.Routine, d impl.Data, c impl.Core) {
+	t.Helper()
+	insideData, allData := withinData(d)
+	insideCore, coreMemory := withinCore(c)
+	inside, all, memory := withinRoutines(list)
+	insideKinds, allKinds := within(kindsOf(d), 3)
+	arguments := slices.Concat(partsOf(allData), coreMemory, routineParts(all, memory), []part{intsPart("kinds", allKinds)})
+	wantApart(t, "StepCore", arguments, func() []part {
+		y, z, _, _ := impl.StepCore(inside, insideData, insideCore, 5)
+		return append(partsOf(y), coreParts(z)...)
+	})
+	wantApart(t, "BlockRun", arguments, func() []part {
+		y, z, _, _ := impl.BlockRun(inside, insideData, insideCore, 5)
+		return append(partsOf(y), coreParts(z)...)
+	})
+	wantApart(t, "NewCore", arguments, func() []part {
+		z, _ := impl.NewCore(inside, insideKinds, len(inside)-1)
+		return coreParts(z)
+	})
+	wantApart(t, "CoreOK and SameCore", arguments, func() []part {
+		impl.CoreOK(inside, insideKinds, insideCore)
+		impl.SameCore(insideCore, insideCore)
+		impl.SameCore(insideCore, c)
+		impl.SameCore(c, insideCore)
+		return nil
+	})
+}
+
+func TestStepIsApart(t *testing.T) {
+	r := rand.New(rand.NewSource(52))
+	for range 600 {
+		kinds := randomKinds(r)
+		list := callingRoutines(r, kinds, 30)
+		wantStepApart(t, list, mixedData(r, kinds), mixedCore(r, list, kinds))
+	}
+	// All steps of routines one below the other, in which the numbers of frames, of counters and of elements go up and down.
+	list := routinesOf("repeat 2; push 1; store 0; cut; end", "call 0; push 1; call 0; store 1", "repeat 2; repeat 1; call 1; end; end", "push 4; call 2; store 2; call 2")
+	for _, p := range placesOf(list, newData(), coreOf(nil, frameAt(3, 0)), 0) {
+		wantStepApart(t, list, p.data, p.core)
+	}
+	list, _ = callers()
+	for _, c := range edgeCores() {
+		wantStepApart(t, list, newData(1), c)
+		wantStepApart(t, list, impl.Data{}, c)
+		wantStepApart(t, nil, newData(1), c)
+	}
+}
+
+// Frames whose counters are one and the same slice, which is that of the stack too.
+func TestSharedCounters(t *testing.T) {
+	list := routinesOf("push 5; repeat 2; cut; end; store 0", "repeat 2; call 0; end")
+	loops := []int{2}
+	c := coreOf(loops, frameAt(1, 2, loops...), frameAt(0, 3, loops...))
+	_, z, _, code := impl.StepCore(list, newData(), c, 0)
+	if want := coreOf([]int{2}, frameAt(1, 2, 2), frameAt(0, 2, 1)); code != 0 || !equalCores(z, want) || loops[0] != 2 {
+		t.Error(z, code, loops, "want", want)
+	}
+	_, z, _, code = impl.BlockRun(list, newData(), c, 0)
+	if want := coreOf([]int{2}, frameAt(1, 2, 2), frameAt(0, 3, 1)); code != 0 || !equalCores(z, want) || loops[0] != 2 {
+		t.Error(z, code, loops, "want", want)
 	}
 }
 
@@ -189,7 +314,7 @@ func TestSharedArguments(t *testing.T) {
 		if code != 0 || !equalData(y, v.want) || slices.Contains(pins, true) {
 			t.Error(v.text, y, code, "want", v.want)
 		}
-		y, _, code = impl.TreeRun(routinesOf("flag 1;"+v.text), 0, d, 0)
+		y, _, code = runBoth(t, routinesOf("flag 1;"+v.text), 0, d, 0)
 		if code != 0 || !equalData(y, v.want) || slices.Contains(pins, true) {
 			t.Error(v.text, y, code, "want", v.want)
 		}
@@ -218,6 +343,19 @@ func TestEqualStates(t *testing.T) {
 			wantSame(t, runCalls(list, d), runCalls(insideList, inside))
 		}
 	}
+	list, _ := callers()
+	for _, c := range edgeCores() {
+		inside, _ := withinCore(c)
+		insideList, _, _ := withinRoutines(list)
+		insideKinds, _ := within([]int{1, 2}, 3)
+		wantSame(t, coreCalls(list, []int{1, 2}, c), coreCalls(insideList, insideKinds, inside))
+		wantSame(t, stepCalls(list, newData(), c), stepCalls(insideList, newData(), inside))
+	}
+	nothing, empties := coreOf(nil, frameAt(0, 0)), impl.Core{Frames: []impl.Frame{{Loops: []int{}}}, Stack: []int{}}
+	wantSame(t, coreCalls(list, nil, nothing), coreCalls(list, []int{}, empties))
+	wantSame(t, stepCalls(list, newData(), nothing), stepCalls(list, newData(), empties))
+	wantSame(t, coreCalls(nil, nil, impl.Core{}), coreCalls([]impl.Routine{}, []int{}, impl.Core{Frames: []impl.Frame{}, Stack: []int{}}))
+	wantSame(t, stepCalls(nil, newData(), impl.Core{}), stepCalls([]impl.Routine{}, newData(), impl.Core{Frames: []impl.Frame{}, Stack: []int{}}))
 	full, none := newData(), changed(newData(), func(d *impl.Data) { d.Blocks = []impl.Fb{} })
 	wantSame(t, kindsCalls(nil), kindsCalls([]int{}))
 	wantSame(t, dataCalls(full), dataCalls(none))

@@ -10,10 +10,22 @@ import (
 	"loop.example/g00684/impl"
 )
 
+// runBoth executes a routine with both interpreters, which must agree, and returns what TreeRun returns.
+func runBoth(t *testing.T, list []impl.Routine, routine int, d impl.Data, now int) (impl.Data, int, int) {
+	t.Helper()
+	y, n, code := impl.TreeRun(list, routine, d, now)
+	flat, m, longest, flatCode := impl.FlatRun(list, routine, d, now)
+	if m != n || flatCode != code || longest < 0 || longest > n || !equalData(flat, y) {
+		t.Errorf("FlatRun(%s, %d, %s, %d) = %v, %d, %d, %d, and TreeRun %v, %d, %d",
+			short(shown(list)), routine, short(shown(d)), now, flat, m, longest, flatCode, y, n, code)
+	}
+	return y, n, code
+}
+
 // wantRun executes the last routine and expects the ticks and the state.
 func wantRun(t *testing.T, list []impl.Routine, d impl.Data, now, ticks int, want impl.Data) {
 	t.Helper()
-	y, n, code := impl.TreeRun(list, len(list)-1, d, now)
+	y, n, code := runBoth(t, list, len(list)-1, d, now)
 	if code != 0 || n != ticks || !equalData(y, want) || !impl.DataOK(y) {
 		t.Errorf("TreeRun(%v, %d, %v, %d) = %v, %d, %d, want %v, %d ticks", list, len(list)-1, d, now, y, n, code, want, ticks)
 	}
@@ -22,7 +34,7 @@ func wantRun(t *testing.T, list []impl.Routine, d impl.Data, now, ticks int, wan
 // wantNoRun expects a code and nothing beside it.
 func wantNoRun(t *testing.T, list []impl.Routine, routine int, d impl.Data, now, want int) {
 	t.Helper()
-	if y, n, code := impl.TreeRun(list, routine, d, now); code != want || n != 0 || !isZeroData(y) {
+	if y, n, code := runBoth(t, list, routine, d, now); code != want || n != 0 || !isZeroData(y) {
 		t.Errorf("TreeRun(%s, %d, %s, %d) = %v, %d, %d, want code %d", short(shown(list)), routine, short(shown(d)), now, y, n, code, want)
 	}
 }
@@ -55,7 +67,7 @@ func wantTimes(t *testing.T, pin bool, texts []string, ticks int, begins ...int)
 	for _, now := range []int{0, 1, 10, 777, largestValue - 5000} {
 		d := newData(eightTimers()...)
 		d.Latched[0] = pin
-		y, n, code := impl.TreeRun(list, len(list)-1, d, now)
+		y, n, code := runBoth(t, list, len(list)-1, d, now)
 		if code != 0 || n != ticks {
 			t.Errorf("%q with %t at %d takes %d ticks, %d, want %d", texts, pin, now, n, code, ticks)
 			return
@@ -92,7 +104,7 @@ func TestRunOfEveryOp(t *testing.T) {
 		n := len(row.takes) + ticksOf(row.x.Op) + len(row.gives)
 		d := newData(1, 2, 3, 4, 1, 1, 1, 1)
 		// A call is one of the routine without instructions.
-		y, ticks, result := impl.TreeRun([]impl.Routine{{}, {Code: code}}, 1, d, 100)
+		y, ticks, result := runBoth(t, []impl.Routine{{}, {Code: code}}, 1, d, 100)
 		if result != 0 || ticks != n+6 || y.Blocks[7] != (impl.Fb{Kind: 1, On: true, Start: 100 + n + 2}) {
 			t.Errorf("%v takes %d ticks, %d, and leaves %v, want %d ticks", code, ticks, result, y.Blocks[7], n+6)
 		}
@@ -227,7 +239,7 @@ func TestRunOfOneRoutine(t *testing.T) {
 		ticks int
 		want  []int
 	}{{2, []int{5, 0, 0, 0, 0}}, {4, []int{0, 6, 0, 0, 1}}, {6, []int{5, 0, 7, 0, 0}}, {2, []int{0, 0, 0, 8, 0}}, {10, []int{0, 6, 0, 8, 1}}} {
-		y, n, code := impl.TreeRun(list, k, d, 0)
+		y, n, code := runBoth(t, list, k, d, 0)
 		if code != 0 || n != v.ticks || !slices.Equal(y.Globals[:5], v.want) {
 			t.Errorf("routine %d takes %d ticks, %d, and leaves %v, want %d, %v", k, n, code, y.Globals[:5], v.ticks, v.want)
 		}
@@ -292,7 +304,7 @@ func TestRunNearTheLargestTime(t *testing.T) {
 	for before := range 250 {
 		now := largestValue - before
 		d := newData(eightTimers()...)
-		y, n, code := impl.TreeRun(list, 0, d, now)
+		y, n, code := runBoth(t, list, 0, d, now)
 		if code != 0 || n != 169 {
 			t.Fatalf("at %d it takes %d ticks, %d", now, n, code)
 		}

@@ -53,7 +53,7 @@ func TestRunOfLoads(t *testing.T) {
 	}
 	list := routinesOf("cut", loadOf(3001), "call 1", "call 0", "")
 	for routine, n := range []int{1, 0, 0, 3, 0} {
-		y, ticks, code := impl.TreeRun(list, routine, d, 0)
+		y, ticks, code := runBoth(t, list, routine, d, 0)
 		if want := routine == 1 || routine == 2; (code == impl.ErrLoad) != want || ticks != n || code == 0 && !equalData(y, d) {
 			t.Errorf("routine %d takes %d ticks, %d", routine, ticks, code)
 		}
@@ -70,7 +70,7 @@ func TestRunOutOfRange(t *testing.T) {
 				wantNoRun(t, list, routine, d, -1, impl.ErrRange)
 				continue
 			}
-			if _, ticks, code := impl.TreeRun(list, routine, d, 0); code != 0 || ticks != 1 {
+			if _, ticks, code := runBoth(t, list, routine, d, 0); code != 0 || ticks != 1 {
 				t.Errorf("routine %d of %d takes %d ticks, %d", routine, n, ticks, code)
 			}
 		}
@@ -144,38 +144,56 @@ func TestRunOrder(t *testing.T) {
 	wantNoRun(t, heavy, 0, valid, 0, impl.ErrLoad)
 }
 
-// A jumping is the reference for TreeRun: it goes through the code by indices, and each routine has a stack of its own.
+// A jumping is the reference for both interpreters: it goes through the code by indices, and calls by recursion.
 type jumping struct {
 	list         []impl.Routine
 	data         impl.Data
+	stack        []int
+	callers      []impl.Frame // each directly behind its call
 	now, elapsed int
+	note         func(x impl.Instr, f impl.Frame) // is called before each instruction with the frame that executes it
 }
 
-func (j *jumping) routine(k int) {
-	var stack []int
-	m := newMachine(j.list[k].Code, func() bool {
-		top := stack[len(stack)-1]
-		stack = stack[:len(stack)-1]
+// frame executes what is left of a frame.
+func (j *jumping) frame(f impl.Frame) {
+	m := newMachine(j.list[f.Routine].Code, func() bool {
+		top := j.stack[len(j.stack)-1]
+		j.stack = j.stack[:len(j.stack)-1]
 		return top > 0
 	})
-	for at := 0; at < len(m.code); at = m.next(at) {
+	m.loops, m.begun = slices.Clone(f.Loops), openAt(m.code, f.Pc)
+	for at := f.Pc; at < len(m.code); at = m.next(at) {
 		x := m.code[at]
+		j.note(x, impl.Frame{Routine: f.Routine, Pc: at, Loops: m.loops})
 		now := min(j.now+j.elapsed, largestValue)
 		j.elapsed += ticksOf(x.Op)
 		switch x.Op {
 		case 21, 22, 23, 24:
 		case 26:
-			j.routine(x.A)
+			j.callers = append(j.callers, impl.Frame{Routine: f.Routine, Pc: at + 1, Loops: m.loops})
+			j.frame(impl.Frame{Routine: x.A})
+			j.callers = j.callers[:len(j.callers)-1]
 		default:
-			stack = applyByRule(&j.data, x, stack, now)
+			j.stack = applyByRule(&j.data, x, j.stack, now)
 		}
 	}
 }
 
+// openAt returns the indices of the repeats that are before pc and have their end at or behind pc.
+func openAt(code []impl.Instr, pc int) []int {
+	var list []int
+	for at, m := range matchesOf(code) {
+		if code[at].Op == 24 && at < pc && m.end >= pc {
+			list = append(list, at)
+		}
+	}
+	return list
+}
+
 // runByRule executes a routine that takes few enough ticks.
 func runByRule(list []impl.Routine, k int, d impl.Data, now int) (impl.Data, int) {
-	j := &jumping{list: list, data: copyOfData(d), now: now}
-	j.routine(k)
+	j := &jumping{list: list, data: copyOfData(d), now: now, note: func(impl.Instr, impl.Frame) {}}
+	j.frame(impl.Frame{Routine: k})
 	return j.data, j.elapsed
 }
 
@@ -185,7 +203,7 @@ func checkRun(t *testing.T, list []impl.Routine, d impl.Data, now int) (int, int
 	sums := costsOf(t, list, kindsOf(d))
 	executed, refused := 0, 0
 	for k := range list {
-		y, n, code := impl.TreeRun(list, k, d, now)
+		y, n, code := runBoth(t, list, k, d, now)
 		if sums[k].Total > 3000 {
 			if code != impl.ErrLoad || n != 0 || !isZeroData(y) {
 				t.Fatalf("TreeRun(%v, %d, %v, %d) = %v, %d, %d, the Total is %d", list, k, d, now, y, n, code, sums[k].Total)
