@@ -74,6 +74,12 @@ func encodeAs[T width](n, size int) (string, error) {
 	return string(b), nil
 }
 
+// appendNumber takes a number that fits.
+func appendNumber(b []byte, n, size int) []byte {
+	t, _ := PutNumber(n, size)
+	return append(b, t...)
+}
+
 func TakeNumber(t string, at, size int) (int, int) {
 	if len(t) > MaxText {
 		return 0, ErrLong

@@ -29,6 +29,7 @@ func textCalls(s string) []call {
 		{"OpOf", func() string { return fmt.Sprint(impl.OpOf(s)) }},
 		{"ReadInstr", func() string { return fmt.Sprint(impl.ReadInstr(s)) }},
 		{"ReadCode", func() string { return fmt.Sprint(impl.ReadCode(s)) }},
+		{"ReadImage", func() string { return fmt.Sprint(impl.ReadImage(s)) }},
 	}
 	for _, at := range edgeInts() {
 		for _, size := range []int{0, 1, 2, 3, 4, at} {
@@ -184,6 +185,33 @@ func runCalls(routines []impl.Routine, d impl.Data) []call {
 	return list
 }
 
+func taskCalls(x impl.Task) []call {
+	return []call{{"TaskOK", func() string { return fmt.Sprint(impl.TaskOK(x)) }}}
+}
+
+func programCalls(p impl.Program) []call {
+	return []call{
+		{"DemoProgram", func() string { return fmt.Sprint(impl.DemoProgram()) }},
+		{"CheckProgram", func() string { return fmt.Sprint(impl.CheckProgram(p)) }},
+		{"ImageText", func() string { r, c := impl.ImageText(p); return fmt.Sprint(c, r) }},
+		{"SameProgram", func() string {
+			return fmt.Sprint(impl.SameProgram(p, p), impl.SameProgram(p, plainProgram()), impl.SameProgram(plainProgram(), p))
+		}},
+	}
+}
+
+// imageCalls holds calls with every task and with every program.
+func imageCalls() []call {
+	var list []call
+	for _, x := range edgeTasks() {
+		list = append(list, taskCalls(x)...)
+	}
+	for _, p := range edgePrograms() {
+		list = append(list, programCalls(p)...)
+	}
+	return list
+}
+
 // stateCalls holds calls with every state.
 func stateCalls() []call {
 	var list []call
@@ -249,7 +277,7 @@ func allCalls() []call {
 			list = append(list, routineCalls(routines, kinds)...)
 		}
 	}
-	return slices.Concat(list, stateCalls(), moveCalls())
+	return slices.Concat(list, stateCalls(), moveCalls(), imageCalls())
 }
 
 func safely(t *testing.T, c call) string {
@@ -394,10 +422,11 @@ func wantUnchanged[E comparable](t *testing.T, values func() []E, calls func(E) 
 	}
 }
 
-// Blocks and summaries are passed by value, so this can fail only if they come to hold memory that is shared.
+// Blocks, summaries and tasks are passed by value, so this can fail only if they come to hold memory that is shared.
 func TestValuesStayUnchanged(t *testing.T) {
 	wantUnchanged(t, edgeFbs, fbCalls)
 	wantUnchanged(t, edgeSummaries, summaryCalls)
+	wantUnchanged(t, edgeTasks, taskCalls)
 }
 
 // wantSame expects equal results from two lists of the same calls.

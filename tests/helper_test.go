@@ -40,7 +40,9 @@ func edgeTexts() []string {
 	}
 	return append(list, "ok", "cut", "PLC1", "PLC1\x00\x00\x00\x00\xf6\x7d", "00ff", "0G", "_a9", "9a", "\xc3\xa9",
 		"push -5", " call  5 ", "add", "add 0", "load 16", strings.Repeat(" ", longestText-3)+"add", strings.Repeat(" ", longestText-2)+"add",
-		"\x01\xfe\xff\xff\xff\x11", "\x01\xfe\xff", "\x02\x02\x00\x00\x00", strings.Repeat("\x11", 40), strings.Repeat("\x11", 41), strings.Repeat("\x11", longestText), strings.Repeat("\x11", longestText+1))
+		"\x01\xfe\xff\xff\xff\x11", "\x01\xfe\xff", "\x02\x02\x00\x00\x00", strings.Repeat("\x11", 40), strings.Repeat("\x11", 41), strings.Repeat("\x11", longestText), strings.Repeat("\x11", longestText+1),
+		goodFrame(payloadOf(plainProgram())), goodFrame(payloadOf(fullProgram())), goodFrame(payloadOf(fullProgram())+"x"), goodFrame("\x00\x01\xff\xff"+strings.Repeat("\x19", 65000)), goodFrame("\x00\x01\xff\x7f"+strings.Repeat("\x19", 32767)),
+		goodFrame("\xff\xff"), goodFrame("\x00\x80"), goodFrame("\x00\x00\xff"), goodFrame(mixedText(longestText-10)))
 }
 
 // edgeCode holds lists of instructions, valid and invalid, at and beyond the limits of lengths.
@@ -80,6 +82,46 @@ func edgeRoutines() [][]impl.Routine {
 	}
 	for _, code := range edgeCode() {
 		list = append(list, []impl.Routine{{}, {Code: code}, {Code: slices.Clone(code)}})
+	}
+	return list
+}
+
+// edgeTasks holds tasks, valid and invalid, with every field at and beyond the limits of integers.
+func edgeTasks() []impl.Task {
+	list := []impl.Task{{}, cyclic(9, 9, 0), cyclic(9, 9, 5), cyclic(9, 10, 0), event(9, 10, 7, 4, 1)}
+	for i := range 6 {
+		for _, n := range edgeInts() {
+			for _, x := range []impl.Task{cyclic(3000, 2000, 3), event(2000, 3000, 3, 2, 3)} {
+				*taskFields(&x)[i] = n
+				list = append(list, x)
+			}
+		}
+	}
+	return list
+}
+
+// edgePrograms holds programs, valid and invalid, with every list at and beyond the limits of lengths.
+func edgePrograms() []impl.Program {
+	list := []impl.Program{{}, plainProgram(), fullProgram(), demoByHand(), programOf(nil, nil), programOf(nil, make([]impl.Routine, 1), cyclic(1, 1, 0)),
+		{Kinds: []int{}, Routines: []impl.Routine{}, Tasks: []impl.Task{}, Safe: []bool{}}}
+	add := func(change func(*impl.Program)) { list = append(list, changedProgram(plainProgram(), change)) }
+	for _, kinds := range edgeKinds() {
+		add(func(p *impl.Program) { p.Kinds = kinds })
+	}
+	for _, routines := range edgeRoutines() {
+		add(func(p *impl.Program) { p.Routines = routines })
+	}
+	for i, x := range edgeTasks() {
+		if i%7 == 0 {
+			add(func(p *impl.Program) { p.Tasks[2] = x })
+		}
+	}
+	for _, n := range []int{0, 1, 5, 6, longestList, longestList + 1} {
+		add(func(p *impl.Program) { p.Tasks = make([]impl.Task, n) })
+		add(func(p *impl.Program) { p.Tasks = slices.Repeat([]impl.Task{cyclic(9, 9, 1)}, n) })
+	}
+	for _, n := range []int{0, 7, 8, 9, longestList, longestList + 1} {
+		add(func(p *impl.Program) { p.Safe = make([]bool, n) })
 	}
 	return list
 }

@@ -17,16 +17,25 @@ type part struct {
 }
 
 func partOf[E comparable](name string, list []E, other func(E) E) part {
+	return partBy(name, list, func(a, b E) bool { return a == b }, other)
+}
+
+func partBy[E any](name string, list []E, same func(E, E) bool, other func(E) E) part {
 	all := list[:cap(list)]
 	keep := func() func() bool {
 		before := slices.Clone(all)
-		return func() bool { return slices.Equal(all, before) }
+		return func() bool { return slices.EqualFunc(all, before, same) }
 	}
 	return part{name, len(all), keep, func() {
 		for i, e := range all {
 			all[i] = other(e)
 		}
 	}}
+}
+
+// isOneList reports whether two lists are one in memory.
+func isOneList[E any](a, b []E) bool {
+	return len(a) == len(b) && (len(a) == 0 || &a[0] == &b[0])
 }
 
 func intsPart(name string, list []int) part {
@@ -59,19 +68,12 @@ func withinData(d impl.Data) (impl.Data, impl.Data) {
 
 // framesPart is like partOf. A frame changes if another list of counters takes the place of its own; the counters are parts themselves.
 func framesPart(list []impl.Frame) part {
-	all := list[:cap(list)]
 	same := func(f, g impl.Frame) bool {
-		return f.Routine == g.Routine && f.Pc == g.Pc && len(f.Loops) == len(g.Loops) && (len(f.Loops) == 0 || &f.Loops[0] == &g.Loops[0])
+		return f.Routine == g.Routine && f.Pc == g.Pc && isOneList(f.Loops, g.Loops)
 	}
-	keep := func() func() bool {
-		before := slices.Clone(all)
-		return func() bool { return slices.EqualFunc(all, before, same) }
-	}
-	return part{"Frames", len(all), keep, func() {
-		for i, f := range all {
-			all[i] = impl.Frame{Routine: ^f.Routine, Pc: ^f.Pc, Loops: []int{1}}
-		}
-	}}
+	return partBy("Frames", list, same, func(f impl.Frame) impl.Frame {
+		return impl.Frame{Routine: ^f.Routine, Pc: ^f.Pc, Loops: []int{1}}
+	})
 }
 
 // coreParts returns the slices of a core, also those of frames in unused capacity.
@@ -181,9 +183,85 @@ func routineParts(all []impl.Routine, memory [][]impl.Instr) []part {
 		return func() bool { return sameRoutines(all, before) }
 	}}}
 	for _, code := range memory {
-		list = append(list, partOf("code", code, func(x impl.Instr) impl.Instr { return impl.Instr{Op: ^x.Op, A: ^x.A} }))
+		list = append(list, codeMemory(code))
 	}
 	return list
+}
+
+func codeMemory(code []impl.Instr) part {
+	return partOf("code", code, func(x impl.Instr) impl.Instr { return impl.Instr{Op: ^x.Op, A: ^x.A} })
+}
+
+// programParts returns the slices of a program, also those of routines in unused capacity.
+func programParts(p impl.Program) []part {
+	same := func(a, b impl.Routine) bool { return isOneList(a.Code, b.Code) }
+	list := []part{
+		intsPart("Kinds", p.Kinds),
+		partBy("Routines", p.Routines, same, func(impl.Routine) impl.Routine { return impl.Routine{Code: parse("cut")} }),
+		partOf("Tasks", p.Tasks, func(x impl.Task) impl.Task { return impl.Task{Kind: ^x.Kind, Period: ^x.Period, Queue: ^x.Queue} }),
+		boolsPart("Safe", p.Safe),
+	}
+	for _, routine := range p.Routines[:cap(p.Routines)] {
+		list = append(list, codeMemory(routine.Code))
+	}
+	return list
+}
+
+// withinProgram copies each slice into the middle of a longer one; the parts are that memory.
+func withinProgram(p impl.Program) (impl.Program, []part) {
+	var all impl.Program
+	var codes [][]impl.Instr
+	p.Kinds, all.Kinds = within(p.Kinds, 4)
+	p.Routines, all.Routines, codes = withinRoutines(p.Routines)
+	p.Tasks, all.Tasks = within(p.Tasks, cyclic(9, 8, 7))
+	p.Safe, all.Safe = within(p.Safe, true)
+	list := programParts(all)
+	for _, code := range codes {
+		list = append(list, codeMemory(code))
+	}
+	return p, list
+}
+
+func TestProgramIsApart(t *testing.T) {
+	r := rand.New(rand.NewSource(53))
+	list := edgePrograms()
+	for range 300 {
+		list = append(list, mixedProgram(r))
+	}
+	for _, p := range list {
+		inside, arguments := withinProgram(p)
+		wantApart(t, "CheckProgram, ImageText or SameProgram", arguments, func() []part {
+			impl.CheckProgram(inside)
+			impl.ImageText(inside)
+			impl.SameProgram(inside, inside)
+			impl.SameProgram(inside, p)
+			impl.SameProgram(p, inside)
+			return nil
+		})
+		image, _ := impl.ImageText(p)
+		wantApart(t, "ReadImage", arguments, func() []part {
+			first, _ := impl.ReadImage(image)
+			second, _ := impl.ReadImage(image)
+			return append(programParts(first), programParts(second)...)
+		})
+	}
+	wantApart(t, "DemoProgram", nil, func() []part {
+		return append(programParts(impl.DemoProgram()), programParts(impl.DemoProgram())...)
+	})
+	if !equalPrograms(impl.DemoProgram(), demoByHand()) {
+		t.Error("the demo program was changed by its callers")
+	}
+}
+
+// A program whose routines have one and the same code is written like any other, and read with code of their own.
+func TestSharedCode(t *testing.T) {
+	code := parse("push 4; store 2; cut")
+	p := programOf(nil, []impl.Routine{{Code: code}, {Code: code}, {Code: code[:2]}}, cyclic(9, 9, 2))
+	checkImage(t, p)
+	wantSameProgram(t, p, copyOfProgram(p), true)
+	image, _ := impl.ImageText(p)
+	q, _ := impl.ReadImage(image)
+	wantApart(t, "ReadImage", programParts(p), func() []part { return programParts(q) })
 }
 
 func wantRunApart(t *testing.T, list []impl.Routine, d impl.Data) {
@@ -225,7 +303,7 @@ func TestFlatIsApart(t *testing.T) {
 		insideCode, allCode := withinCode(code)
 		for _, kinds := range edgeKinds() {
 			insideKinds, allKinds := within(kinds, 3)
-			arguments := []part{intsPart("kinds", allKinds), partOf("code", allCode, func(x impl.Instr) impl.Instr { return impl.Instr{Op: ^x.Op, A: ^x.A} })}
+			arguments := []part{intsPart("kinds", allKinds), codeMemory(allCode)}
 			wantApart(t, "FlatOf", arguments, func() []part {
 				list, _ := impl.FlatOf(insideCode, insideKinds, 2)
 				return []part{flatsPart(list)}
@@ -364,4 +442,15 @@ func TestEqualStates(t *testing.T) {
 	wantSame(t, runCalls(make([]impl.Routine, 6), full), runCalls(slices.Repeat([]impl.Routine{{Code: []impl.Instr{}}}, 6), none))
 	empty := impl.Data{Globals: []int{}, Blocks: []impl.Fb{}, Latched: []bool{}, Pins: []bool{}, Outs: []bool{}, Wires: []bool{}}
 	wantSame(t, dataCalls(impl.Data{}), dataCalls(empty))
+}
+
+func TestEqualPrograms(t *testing.T) {
+	for _, p := range edgePrograms() {
+		inside, _ := withinProgram(p)
+		wantSame(t, programCalls(p), programCalls(inside))
+	}
+	p, q := programOf(nil, make([]impl.Routine, 1), cyclic(9, 9, 0)), programOf([]int{}, []impl.Routine{{Code: []impl.Instr{}}}, cyclic(9, 9, 0))
+	wantSame(t, programCalls(p), programCalls(q))
+	wantSame(t, programCalls(programOf(nil, nil)), programCalls(programOf([]int{}, []impl.Routine{}, []impl.Task{}...)))
+	wantSame(t, programCalls(impl.Program{}), programCalls(impl.Program{Kinds: []int{}, Routines: []impl.Routine{}, Tasks: []impl.Task{}, Safe: []bool{}}))
 }
