@@ -122,6 +122,7 @@ func summaryCalls(a impl.Summary) []call {
 	list := []call{
 		{"SummaryOK", func() string { return fmt.Sprint(impl.SummaryOK(a)) }},
 		{"LongestOf", func() string { return fmt.Sprint(impl.LongestOf(a)) }},
+		{"JobCost", func() string { return fmt.Sprint(impl.JobCost(a)) }},
 	}
 	for _, n := range edgeInts() {
 		list = append(list, call{"Times", func() string { return fmt.Sprint(impl.Times(a, n)) }})
@@ -194,10 +195,32 @@ func programCalls(p impl.Program) []call {
 		{"DemoProgram", func() string { return fmt.Sprint(impl.DemoProgram()) }},
 		{"CheckProgram", func() string { return fmt.Sprint(impl.CheckProgram(p)) }},
 		{"ImageText", func() string { r, c := impl.ImageText(p); return fmt.Sprint(c, r) }},
+		{"BoundsOf", func() string { return fmt.Sprint(impl.BoundsOf(p)) }},
+		{"AdmitProgram", func() string { return fmt.Sprint(impl.AdmitProgram(p)) }},
+		{"LoadOf", func() string { return fmt.Sprint(impl.LoadOf(p)) }},
 		{"SameProgram", func() string {
 			return fmt.Sprint(impl.SameProgram(p, p), impl.SameProgram(p, plainProgram()), impl.SameProgram(plainProgram(), p))
 		}},
 	}
+}
+
+func busyCalls(costs, periods []int) []call {
+	var list []call
+	for _, n := range []int{math.MinInt, -1, 0, 1, 4999, 5000, 5001, math.MaxInt} {
+		list = append(list, call{"BusyPeriod", func() string { return fmt.Sprint(impl.BusyPeriod(costs, periods, n)) }})
+	}
+	return list
+}
+
+// workCalls holds calls with every list of costs and every list of periods.
+func workCalls() []call {
+	var list []call
+	for _, costs := range edgeWork() {
+		for _, periods := range edgeWork() {
+			list = append(list, busyCalls(costs, periods)...)
+		}
+	}
+	return list
 }
 
 // imageCalls holds calls with every task and with every program.
@@ -277,7 +300,7 @@ func allCalls() []call {
 			list = append(list, routineCalls(routines, kinds)...)
 		}
 	}
-	return slices.Concat(list, stateCalls(), moveCalls(), imageCalls())
+	return slices.Concat(list, stateCalls(), moveCalls(), imageCalls(), workCalls())
 }
 
 func safely(t *testing.T, c call) string {

@@ -102,7 +102,7 @@ func edgeTasks() []impl.Task {
 
 // edgePrograms holds programs, valid and invalid, with every list at and beyond the limits of lengths.
 func edgePrograms() []impl.Program {
-	list := []impl.Program{{}, plainProgram(), fullProgram(), demoByHand(), programOf(nil, nil), programOf(nil, make([]impl.Routine, 1), cyclic(1, 1, 0)),
+	list := []impl.Program{{}, plainProgram(), fullProgram(), easyProgram(), demoByHand(), programOf(nil, nil), programOf(nil, make([]impl.Routine, 1), cyclic(1, 1, 0)),
 		{Kinds: []int{}, Routines: []impl.Routine{}, Tasks: []impl.Task{}, Safe: []bool{}}}
 	add := func(change func(*impl.Program)) { list = append(list, changedProgram(plainProgram(), change)) }
 	for _, kinds := range edgeKinds() {
@@ -122,6 +122,15 @@ func edgePrograms() []impl.Program {
 	}
 	for _, n := range []int{0, 7, 8, 9, longestList, longestList + 1} {
 		add(func(p *impl.Program) { p.Safe = make([]bool, n) })
+	}
+	return list
+}
+
+// edgeWork holds lists of costs or of periods, valid and invalid, at and beyond the limits of lengths.
+func edgeWork() [][]int {
+	list := [][]int{nil, {}, {0}, {1}, {5000}, {5001}, {math.MinInt}, {math.MaxInt}, {10, 20}, {50, 60}, {0, 0, 0, 0, 0}, {10, 20, 30, 40, 50}, {300, 250, 200, 350, 400}, {1, 2, 3, 4, math.MinInt}, {math.MaxInt, 1, 1, 1, 1}}
+	for _, n := range []int{5, 6, longestList - 1, longestList, longestList + 1, 20000} {
+		list = append(list, slices.Repeat([]int{100}, n), slices.Repeat([]int{math.MaxInt}, n))
 	}
 	return list
 }

@@ -222,11 +222,15 @@ func withinProgram(p impl.Program) (impl.Program, []part) {
 	return p, list
 }
 
+func boundsPart(list []impl.Bound) part {
+	return partOf("bounds", list, func(b impl.Bound) impl.Bound { return impl.Bound{Cost: ^b.Cost, Blocking: ^b.Blocking} })
+}
+
 func TestProgramIsApart(t *testing.T) {
 	r := rand.New(rand.NewSource(53))
 	list := edgePrograms()
 	for range 300 {
-		list = append(list, mixedProgram(r))
+		list = append(list, mixedProgram(r), drawnProgram(r))
 	}
 	for _, p := range list {
 		inside, arguments := withinProgram(p)
@@ -237,6 +241,14 @@ func TestProgramIsApart(t *testing.T) {
 			impl.SameProgram(inside, p)
 			impl.SameProgram(p, inside)
 			return nil
+		})
+		wantApart(t, "BoundsOf, AdmitProgram or LoadOf", arguments, func() []part {
+			impl.LoadOf(inside)
+			a, _ := impl.BoundsOf(inside)
+			b, _, _ := impl.AdmitProgram(inside)
+			c, _ := impl.BoundsOf(inside)
+			d, _, _ := impl.AdmitProgram(inside)
+			return []part{boundsPart(a), boundsPart(b), boundsPart(c), boundsPart(d)}
 		})
 		image, _ := impl.ImageText(p)
 		wantApart(t, "ReadImage", arguments, func() []part {
@@ -250,6 +262,41 @@ func TestProgramIsApart(t *testing.T) {
 	})
 	if !equalPrograms(impl.DemoProgram(), demoByHand()) {
 		t.Error("the demo program was changed by its callers")
+	}
+}
+
+// Changing the bounds of one call changes nothing in those of the next one.
+func TestBoundsAreNew(t *testing.T) {
+	first, _, _ := impl.AdmitProgram(easyProgram())
+	clear(first[:cap(first)])
+	second, _ := impl.BoundsOf(easyProgram())
+	clear(second[:cap(second)])
+	wantAdmitted(t, easyProgram(), easyBounds()...)
+	wantBoundsOf(t, easyProgram(), easyBounds(), impl.OK)
+}
+
+func TestWorkStaysUnchanged(t *testing.T) {
+	for _, costs := range edgeWork() {
+		insideCosts, allCosts := within(costs, 7)
+		for _, periods := range edgeWork() {
+			insidePeriods, allPeriods := within(periods, 8)
+			wantApart(t, "BusyPeriod", []part{intsPart("costs", allCosts), intsPart("periods", allPeriods)}, func() []part {
+				for _, n := range []int{-1, 0, 5000, 5001} {
+					impl.BusyPeriod(insideCosts, insidePeriods, n)
+				}
+				return nil
+			})
+			wantSame(t, busyCalls(costs, periods), busyCalls(insideCosts, insidePeriods))
+		}
+	}
+	wantSame(t, busyCalls(nil, nil), busyCalls([]int{}, []int{}))
+	wantSame(t, busyCalls(nil, []int{1}), busyCalls([]int{}, []int{1}))
+	// One list that is both.
+	both := []int{1000, 500}
+	wantBusy(t, both, both, 0, 0, impl.ErrLoad)
+	wantBusy(t, both[:1], both[:1], 0, 1000, impl.OK)
+	if !slices.Equal(both, []int{1000, 500}) {
+		t.Error("the lists were changed:", both)
 	}
 }
 
