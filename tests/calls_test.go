@@ -212,6 +212,46 @@ func busyCalls(costs, periods []int) []call {
 	return list
 }
 
+func sourceCalls(x impl.Source, task impl.Task) []call {
+	list := []call{
+		{"NewSource", func() string { return fmt.Sprint(impl.NewSource()) }},
+		{"SourceOK", func() string { return fmt.Sprint(impl.SourceOK(x, task)) }},
+		{"TakeEvent", func() string { return fmt.Sprint(impl.TakeEvent(x, task)) }},
+		{"BalanceOf", func() string { return fmt.Sprint(impl.BalanceOf(x, task)) }},
+		{"SourceText", func() string { r, c := impl.SourceText(x, task); return fmt.Sprint(c, r) }},
+	}
+	for _, running := range []bool{false, true} {
+		list = append(list, call{"DropEvents", func() string { return fmt.Sprint(impl.DropEvents(x, task, running)) }})
+	}
+	for _, now := range append(edgeTimes(), 49, 50, 59, 60, 5050) {
+		list = append(list, call{"OfferEvent", func() string { return fmt.Sprint(impl.OfferEvent(x, task, now)) }})
+	}
+	return list
+}
+
+func riseCalls(old, now []bool) []call {
+	return []call{{"RisesOf", func() string { return fmt.Sprint(impl.RisesOf(old, now)) }}}
+}
+
+// eventCalls holds calls with every source and with every task, and with pins of every length.
+func eventCalls() []call {
+	var list []call
+	for _, x := range edgeSources() {
+		for _, task := range append(sourceTasks(), impl.Task{}, queueTask(0), queueTask(5), queueTask(math.MaxInt)) {
+			list = append(list, sourceCalls(x, task)...)
+		}
+	}
+	for _, task := range edgeTasks() {
+		list = append(list, sourceCalls(sourceOf(50, 50), task)...)
+	}
+	for _, old := range edgePins() {
+		for _, now := range edgePins() {
+			list = append(list, riseCalls(old, now)...)
+		}
+	}
+	return list
+}
+
 // workCalls holds calls with every list of costs and every list of periods.
 func workCalls() []call {
 	var list []call
@@ -300,7 +340,7 @@ func allCalls() []call {
 			list = append(list, routineCalls(routines, kinds)...)
 		}
 	}
-	return slices.Concat(list, stateCalls(), moveCalls(), imageCalls(), workCalls())
+	return slices.Concat(list, stateCalls(), moveCalls(), imageCalls(), workCalls(), eventCalls())
 }
 
 func safely(t *testing.T, c call) string {

@@ -135,6 +135,15 @@ func edgeWork() [][]int {
 	return list
 }
 
+// edgePins holds lists of pins at and beyond the limits of lengths.
+func edgePins() [][]bool {
+	list := [][]bool{nil, {}, pinsOn(), pinsOn(0, 3, 7), pinsOn(0, 1, 2, 3, 4, 5, 6, 7)}
+	for _, n := range []int{1, 7, 9, 256, longestList - 1, longestList, longestList + 1, 20000} {
+		list = append(list, make([]bool, n), slices.Repeat([]bool{true}, n))
+	}
+	return list
+}
+
 // edgeFbs holds function blocks, valid and invalid, at and beyond the ends of the ranges of their fields.
 func edgeFbs() []impl.Fb {
 	return append(validFbs(), invalidFbs()...)

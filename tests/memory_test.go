@@ -300,6 +300,115 @@ func TestWorkStaysUnchanged(t *testing.T) {
 	}
 }
 
+// withinSource copies the queue into the middle of a longer list, which is the part.
+func withinSource(x impl.Source) (impl.Source, []part) {
+	queue, all := within(x.Queue, 60)
+	x.Queue = queue
+	return x, []part{queuePart(all)}
+}
+
+func queuePart(list []int) part {
+	return intsPart("Queue", list)
+}
+
+// Each function is called twice, since its results share no memory with those of an earlier call either.
+func TestSourceIsApart(t *testing.T) {
+	for _, x := range edgeSources() {
+		inside, arguments := withinSource(x)
+		for _, task := range append(sourceTasks(), impl.Task{}, queueTask(5)) {
+			for _, now := range []int{-1, 49, 50, 59, 60, 61, 5050, largestValue} {
+				wantApart(t, "OfferEvent", arguments, func() []part {
+					y, _ := impl.OfferEvent(inside, task, now)
+					z, _ := impl.OfferEvent(inside, task, now)
+					return []part{queuePart(y.Queue), queuePart(z.Queue)}
+				})
+			}
+			wantApart(t, "TakeEvent", arguments, func() []part {
+				y, _, _ := impl.TakeEvent(inside, task)
+				z, _, _ := impl.TakeEvent(inside, task)
+				return []part{queuePart(y.Queue), queuePart(z.Queue)}
+			})
+			wantApart(t, "DropEvents", arguments, func() []part {
+				y, _ := impl.DropEvents(inside, task, false)
+				z, _ := impl.DropEvents(inside, task, true)
+				return []part{queuePart(y.Queue), queuePart(z.Queue)}
+			})
+			wantApart(t, "SourceOK, BalanceOf or SourceText", arguments, func() []part {
+				impl.SourceOK(inside, task)
+				impl.BalanceOf(inside, task)
+				impl.SourceText(inside, task)
+				return nil
+			})
+		}
+	}
+	wantApart(t, "NewSource", nil, func() []part {
+		return []part{queuePart(impl.NewSource().Queue), queuePart(impl.NewSource().Queue)}
+	})
+}
+
+// A queue is filled in memory that has room behind it, and each source on the way stays as it was.
+func TestSourcesInSequence(t *testing.T) {
+	task := queueTask(4)
+	queue, _ := within([]int{50}, 7)
+	list := []impl.Source{{Last: 50, Queue: queue}}
+	for _, now := range []int{60, 70, 80, 90, 91} {
+		y, _ := impl.OfferEvent(list[len(list)-1], task, now)
+		list = append(list, y)
+	}
+	for range 5 {
+		y, _, _ := impl.TakeEvent(list[len(list)-1], task)
+		list = append(list, y)
+	}
+	for i, want := range [][]int{{50}, {50, 60}, {50, 60, 70}, {50, 60, 70, 80}, {50, 60, 70, 80}, {50, 60, 70, 80}, {60, 70, 80}, {70, 80}, {80}, {}, {}} {
+		if !slices.Equal(list[i].Queue, want) {
+			t.Error("source", i, "is", list[i], "want the queue", want)
+		}
+	}
+	// Two releases that follow the same source.
+	a, _ := impl.OfferEvent(list[1], task, 75)
+	b, _ := impl.OfferEvent(list[1], task, 76)
+	if !slices.Equal(a.Queue, []int{50, 60, 75}) || !slices.Equal(b.Queue, []int{50, 60, 76}) {
+		t.Error("OfferEvent", a, b)
+	}
+}
+
+func TestRisesAreApart(t *testing.T) {
+	for _, old := range edgePins() {
+		insideOld, allOld := within(old, true)
+		for _, now := range edgePins() {
+			insideNow, allNow := within(now, false)
+			wantApart(t, "RisesOf", []part{boolsPart("old", allOld), boolsPart("now", allNow)}, func() []part {
+				a, _ := impl.RisesOf(insideOld, insideNow)
+				b, _ := impl.RisesOf(insideOld, insideNow)
+				return []part{intsPart("pins", a), intsPart("pins", b)}
+			})
+			wantSame(t, riseCalls(old, now), riseCalls(insideOld, insideNow))
+		}
+	}
+	wantSame(t, riseCalls(nil, nil), riseCalls([]bool{}, []bool{}))
+	// One list that is both.
+	both := pinsOn(2, 5)
+	wantRises(t, both, both, nil, impl.OK)
+	if !slices.Equal(both, pinsOn(2, 5)) {
+		t.Error("the pins were changed:", both)
+	}
+}
+
+// The same source in other memory, and nil in place of an empty queue, yield the same results.
+func TestEqualSources(t *testing.T) {
+	for _, x := range edgeSources() {
+		inside, _ := withinSource(x)
+		for _, task := range append(sourceTasks(), impl.Task{}) {
+			wantSame(t, sourceCalls(x, task), sourceCalls(inside, task))
+		}
+	}
+	for _, last := range []int{-1, 0, 50} {
+		nothing, empty := sourceOf(last), sourceOf(last, make([]int, 0, 9)...)
+		nothing.Queue = nil
+		wantSame(t, sourceCalls(nothing, queueTask(2)), sourceCalls(empty, queueTask(2)))
+	}
+}
+
 // A program whose routines have one and the same code is written like any other, and read with code of their own.
 func TestSharedCode(t *testing.T) {
 	code := parse("push 4; store 2; cut")
