@@ -30,6 +30,7 @@ func textCalls(s string) []call {
 		{"ReadInstr", func() string { return fmt.Sprint(impl.ReadInstr(s)) }},
 		{"ReadCode", func() string { return fmt.Sprint(impl.ReadCode(s)) }},
 		{"ReadImage", func() string { return fmt.Sprint(impl.ReadImage(s)) }},
+		{"LoadPlc", func() string { return fmt.Sprint(impl.LoadPlc(s)) }},
 	}
 	for _, at := range edgeInts() {
 		for _, size := range []int{0, 1, 2, 3, 4, at} {
@@ -233,6 +234,45 @@ func riseCalls(old, now []bool) []call {
 	return []call{{"RisesOf", func() string { return fmt.Sprint(impl.RisesOf(old, now)) }}}
 }
 
+func plcCalls(x impl.Plc) []call {
+	return []call{
+		{"PlcOK", func() string { return fmt.Sprint(impl.PlcOK(x)) }},
+		{"SamePlc", func() string {
+			return fmt.Sprint(impl.SamePlc(x, x), impl.SamePlc(x, busyPlc()), impl.SamePlc(busyPlc(), x))
+		}},
+		{"StartPlc", func() string { return fmt.Sprint(impl.StartPlc(x)) }},
+		{"StopPlc", func() string { return fmt.Sprint(impl.StopPlc(x)) }},
+		tickCall(x, pinsOn(0, 2)),
+		tickCall(x, nil),
+		scriptCall(x, scriptOf(50, 1, 3)),
+	}
+}
+
+func tickCall(x impl.Plc, pins []bool) call {
+	return call{"TickPlc", func() string { return fmt.Sprint(impl.TickPlc(x, pins)) }}
+}
+
+func scriptCall(x impl.Plc, script [][]bool) call {
+	return call{"RunPlc", func() string { return fmt.Sprint(impl.RunPlc(x, script)) }}
+}
+
+// workingCalls holds calls with every processor, and with every list of pins and every script.
+func workingCalls() []call {
+	var list []call
+	for _, x := range edgePlcs() {
+		list = append(list, plcCalls(x)...)
+	}
+	for _, x := range []impl.Plc{{}, busyPlc(), restingPlc(), changedPlc(idlePlc(), func(x *impl.Plc) { x.Now = largestValue - 7 })} {
+		for _, pins := range edgePins() {
+			list = append(list, tickCall(x, pins))
+		}
+		for _, script := range edgeScripts() {
+			list = append(list, scriptCall(x, script))
+		}
+	}
+	return list
+}
+
 // eventCalls holds calls with every source and with every task, and with pins of every length.
 func eventCalls() []call {
 	var list []call
@@ -340,7 +380,7 @@ func allCalls() []call {
 			list = append(list, routineCalls(routines, kinds)...)
 		}
 	}
-	return slices.Concat(list, stateCalls(), moveCalls(), imageCalls(), workCalls(), eventCalls())
+	return slices.Concat(list, stateCalls(), moveCalls(), imageCalls(), workCalls(), eventCalls(), workingCalls())
 }
 
 func safely(t *testing.T, c call) string {

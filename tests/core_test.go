@@ -365,8 +365,13 @@ func callingRoutines(r *rand.Rand, kinds []int, most int) []impl.Routine {
 
 // mixedCore returns a valid core of accepted routines, with counters and elements at and within the ends of their ranges.
 func mixedCore(r *rand.Rand, list []impl.Routine, kinds []int) impl.Core {
+	return mixedCoreOf(r, list, kinds, r.Intn(len(list)))
+}
+
+// mixedCoreOf has routine k in its first frame, if that has instructions.
+func mixedCoreOf(r *rand.Rand, list []impl.Routine, kinds []int, k int) impl.Core {
 	var c impl.Core
-	for k := r.Intn(len(list)); len(list[k].Code) > 0; {
+	for len(list[k].Code) > 0 {
 		var calls []int
 		for i, x := range list[k].Code {
 			if x.Op == 26 && len(list[x.A].Code) > 0 {

@@ -41,7 +41,7 @@ func edgeTexts() []string {
 	return append(list, "ok", "cut", "PLC1", "PLC1\x00\x00\x00\x00\xf6\x7d", "00ff", "0G", "_a9", "9a", "\xc3\xa9",
 		"push -5", " call  5 ", "add", "add 0", "load 16", strings.Repeat(" ", longestText-3)+"add", strings.Repeat(" ", longestText-2)+"add",
 		"\x01\xfe\xff\xff\xff\x11", "\x01\xfe\xff", "\x02\x02\x00\x00\x00", strings.Repeat("\x11", 40), strings.Repeat("\x11", 41), strings.Repeat("\x11", longestText), strings.Repeat("\x11", longestText+1),
-		goodFrame(payloadOf(plainProgram())), goodFrame(payloadOf(fullProgram())), goodFrame(payloadOf(fullProgram())+"x"), goodFrame("\x00\x01\xff\xff"+strings.Repeat("\x19", 65000)), goodFrame("\x00\x01\xff\x7f"+strings.Repeat("\x19", 32767)),
+		goodFrame(payloadOf(plainProgram())), goodFrame(payloadOf(fullProgram())), goodFrame(payloadOf(busyProgram())), goodFrame(payloadOf(easyProgram())), goodFrame(payloadOf(queued(9, 1))), goodFrame(payloadOf(overloads()[0].program)), goodFrame(payloadOf(fullProgram())+"x"), goodFrame("\x00\x01\xff\xff"+strings.Repeat("\x19", 65000)), goodFrame("\x00\x01\xff\x7f"+strings.Repeat("\x19", 32767)),
 		goodFrame("\xff\xff"), goodFrame("\x00\x80"), goodFrame("\x00\x00\xff"), goodFrame(mixedText(longestText-10)))
 }
 
@@ -142,6 +142,68 @@ func edgePins() [][]bool {
 		list = append(list, make([]bool, n), slices.Repeat([]bool{true}, n))
 	}
 	return list
+}
+
+// edgeScripts holds scripts at and beyond the limits of lengths, of their own and of their elements.
+func edgeScripts() [][][]bool {
+	list := [][][]bool{nil, {}, {nil}, {pinsOn(0, 1), {}}, {make([]bool, longestList+1)}, make([][]bool, longestList), make([][]bool, longestList+1)}
+	for _, n := range []int{1, 2, 7, 50, longestList - 1, longestList, longestList + 1} {
+		list = append(list, scriptOf(n, 0, 2), scriptOf(n))
+	}
+	return list
+}
+
+// plcLists returns a function for each list in a processor with jobs, which gives it n elements.
+func plcLists(x *impl.Plc) []func(n int) {
+	p, d, j, s := &x.Program, &x.Data, &x.Jobs[0], &x.Sources[0]
+	return []func(int){
+		listChange(&p.Kinds), listChange(&p.Routines), listChange(&p.Routines[0].Code), listChange(&p.Tasks), listChange(&p.Safe),
+		listChange(&d.Globals), listChange(&d.Blocks), listChange(&d.Latched), listChange(&d.Pins), listChange(&d.Outs), listChange(&d.Wires),
+		listChange(&x.Sources), listChange(&s.Queue), listChange(&x.Jobs), listChange(&j.Latched), listChange(&j.Outs), listChange(&j.First),
+		listChange(&j.Core.Stack), listChange(&j.Core.Frames), listChange(&j.Core.Frames[1].Loops), listChange(&x.Log),
+	}
+}
+
+// listChange repeats the elements of a list, or leaves the last ones out.
+func listChange[E any](list *[]E) func(n int) {
+	return func(n int) { *list = slices.Repeat(*list, n/len(*list)+1)[:n] }
+}
+
+// otherNumbers returns numbers in a processor with jobs that busyNumbers does not have.
+func otherNumbers(x *impl.Plc) []*int {
+	code, f, frame := &x.Program.Routines[0].Code[1], &x.Data.Blocks[0], &x.Jobs[3].Core.Frames[0]
+	list := []*int{&x.Program.Kinds[0], &code.Op, &code.A, &x.Data.Globals[3], &f.Kind, &f.Start, &f.Count, &x.Data.Blocks[1].Count, &frame.Routine, &frame.Pc, &x.Jobs[3].Core.Stack[0]}
+	for k := range x.Program.Tasks {
+		list = append(list, taskFields(&x.Program.Tasks[k])...)
+	}
+	return list
+}
+
+// edgePlcs holds processors, valid and invalid, with every number and every list at and beyond its limits.
+func edgePlcs() []impl.Plc {
+	list := []impl.Plc{{}, {Mode: 1}, busyPlc(), idlePlc(), restingPlc(), newPlc(impl.DemoProgram()), newPlc(fullProgram()), newPlc(overloads()[0].program)}
+	first := busyPlc()
+	for i := range busyNumbers(&first) {
+		for _, n := range []int{math.MinInt, -1, 0, largestValue, largestValue + 1, math.MaxInt} {
+			list = append(list, changedPlc(first, func(x *impl.Plc) { *busyNumbers(x)[i].field = n }))
+		}
+	}
+	for i := range otherNumbers(&first) {
+		for _, n := range []int{math.MinInt, -1, 0, largestValue, math.MaxInt} {
+			list = append(list, changedPlc(first, func(x *impl.Plc) { *otherNumbers(x)[i] = n }))
+		}
+	}
+	for i := range plcLists(&first) {
+		for _, n := range []int{0, 1, 7, 40, 41, longestList, longestList + 1} {
+			list = append(list, changedPlc(first, func(x *impl.Plc) { plcLists(x)[i](n) }))
+		}
+	}
+	for _, n := range []int{largestValue - 49, largestValue - 1, largestValue} {
+		for _, base := range []impl.Plc{busyPlc(), restingPlc()} {
+			list = append(list, changedPlc(base, func(x *impl.Plc) { x.Now = n }))
+		}
+	}
+	return append(list, changedPlc(first, func(x *impl.Plc) { x.Jobs, x.Log, x.Busy = []impl.Job{}, []impl.Done{}, false }))
 }
 
 // edgeFbs holds function blocks, valid and invalid, at and beyond the ends of the ranges of their fields.

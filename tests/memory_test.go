@@ -409,6 +409,209 @@ func TestEqualSources(t *testing.T) {
 	}
 }
 
+// plcParts returns the slices of a processor, also those of sources and jobs in unused capacity.
+func plcParts(x impl.Plc) []part {
+	list := append(programParts(x.Program), partsOf(x.Data)...)
+	for _, s := range x.Sources[:cap(x.Sources)] {
+		list = append(list, queuePart(s.Queue))
+	}
+	for _, j := range x.Jobs[:cap(x.Jobs)] {
+		list = append(list, boolsPart("Latched of a job", j.Latched), boolsPart("Outs of a job", j.Outs), boolsPart("First of a job", j.First))
+		list = append(list, coreParts(j.Core)...)
+	}
+	return append(list, sourcesPart(x.Sources), jobsPart(x.Jobs), logPart(x.Log))
+}
+
+// sourcesPart is like framesPart, as is jobsPart.
+func sourcesPart(list []impl.Source) part {
+	same := func(a, b impl.Source) bool {
+		return isOneList(a.Queue, b.Queue) && equalSources(impl.Source{Last: a.Last, Arrived: a.Arrived, Dropped: a.Dropped}, impl.Source{Last: b.Last, Arrived: b.Arrived, Dropped: b.Dropped})
+	}
+	return partBy("Sources", list, same, func(x impl.Source) impl.Source {
+		return impl.Source{Last: ^x.Last, Arrived: ^x.Arrived, Queue: []int{1}}
+	})
+}
+
+func jobsPart(list []impl.Job) part {
+	same := func(a, b impl.Job) bool {
+		return a.Task == b.Task && a.Arrived == b.Arrived && a.Started == b.Started && a.Phase == b.Phase && a.Left == b.Left &&
+			isOneList(a.Latched, b.Latched) && isOneList(a.Outs, b.Outs) && isOneList(a.First, b.First) &&
+			isOneList(a.Core.Frames, b.Core.Frames) && isOneList(a.Core.Stack, b.Core.Stack)
+	}
+	return partBy("Jobs", list, same, func(j impl.Job) impl.Job {
+		return impl.Job{Task: ^j.Task, Phase: ^j.Phase, Latched: pinsOn(1), Core: coreOf([]int{1})}
+	})
+}
+
+func logPart(list []impl.Done) part {
+	return partOf("Log", list, func(d impl.Done) impl.Done { return impl.Done{Task: ^d.Task, Finished: ^d.Finished} })
+}
+
+// withinPlc copies each slice into the middle of a longer one; the parts are that memory.
+func withinPlc(x impl.Plc) (impl.Plc, []part) {
+	program, list := withinProgram(x.Program)
+	data, allData := withinData(x.Data)
+	sources, allSources := within(x.Sources, sourceOf(5, 4))
+	jobs, allJobs := within(x.Jobs, jobOf(3, 2, 4, 1, 0, impl.Core{}))
+	log, allLog := within(x.Log, impl.Done{Task: 1, Finished: 9})
+	x.Program, x.Data, x.Sources, x.Jobs, x.Log = program, data, sources, jobs, log
+	list = append(list, partsOf(allData)...)
+	for k := range sources {
+		source, memory := withinSource(sources[k])
+		sources[k] = source
+		list = append(list, memory...)
+	}
+	for i := range jobs {
+		j := &jobs[i]
+		for _, pins := range []*[]bool{&j.Latched, &j.Outs, &j.First} {
+			inside, all := within(*pins, true)
+			*pins = inside
+			list = append(list, boolsPart("the pins of a job", all))
+		}
+		core, memory := withinCore(j.Core)
+		j.Core = core
+		list = append(list, memory...)
+	}
+	return x, append(list, sourcesPart(allSources), jobsPart(allJobs), logPart(allLog))
+}
+
+// withinScript copies a script and each of its elements into the middle of a longer list.
+func withinScript(script [][]bool) ([][]bool, []part) {
+	inside, all := within(script, pinsOn(6))
+	var list []part
+	for i := range inside {
+		pins, memory := within(inside[i], true)
+		inside[i] = pins
+		list = append(list, boolsPart("pins", memory))
+	}
+	return inside, append(list, partBy("script", all, isOneList[bool], func([]bool) []bool { return pinsOn(5) }))
+}
+
+// wantPlcApart calls each function twice, with all codes that return the processor, as it is or changed.
+func wantPlcApart(t *testing.T, x impl.Plc, pins []bool, script [][]bool) {
+	t.Helper()
+	inside, arguments := withinPlc(x)
+	twice := func(name string, run func() impl.Plc) {
+		t.Helper()
+		wantApart(t, name, arguments, func() []part { return append(plcParts(run()), plcParts(run())...) })
+	}
+	twice("StartPlc", func() impl.Plc { y, _ := impl.StartPlc(inside); return y })
+	twice("StopPlc", func() impl.Plc { y, _ := impl.StopPlc(inside); return y })
+	wantApart(t, "PlcOK and SamePlc", arguments, func() []part {
+		impl.PlcOK(inside)
+		impl.SamePlc(inside, inside)
+		impl.SamePlc(inside, x)
+		impl.SamePlc(x, inside)
+		return nil
+	})
+	insidePins, allPins := within(pins, true)
+	insideScript, scriptParts := withinScript(script)
+	arguments = slices.Concat(arguments, scriptParts, []part{boolsPart("pins", allPins)})
+	twice("TickPlc", func() impl.Plc { y, _ := impl.TickPlc(inside, insidePins); return y })
+	twice("RunPlc", func() impl.Plc { y, _ := impl.RunPlc(inside, insideScript); return y })
+	if len(script) > 0 {
+		same := slices.Repeat(insideScript[:1], 9)
+		twice("RunPlc of the same pins", func() impl.Plc { y, _ := impl.RunPlc(inside, same); return y })
+	}
+}
+
+func TestPlcIsApart(t *testing.T) {
+	r := rand.New(rand.NewSource(171))
+	for i, x := range edgePlcs() {
+		// Those that are valid take long, and differ little.
+		if i < 8 || i%9 == 0 || !impl.PlcOK(x) {
+			wantPlcApart(t, x, pinsOn(0, 2), drawnScript(r, 12))
+		}
+	}
+	for _, x := range []impl.Plc{busyPlc(), idlePlc(), restingPlc(), started(t, impl.DemoProgram())} {
+		for _, pins := range edgePins() {
+			wantPlcApart(t, x, pins, [][]bool{pinsOn(2), pins})
+		}
+		for n := range 20 {
+			wantPlcApart(t, x, drawnPins(r), drawnScript(r, 3*n))
+		}
+		x.Now = largestValue
+		wantPlcApart(t, x, pinsOn(), scriptOf(3))
+	}
+	for range 60 {
+		wantPlcApart(t, mixedPlc(r), drawnPins(r), drawnScript(r, r.Intn(60)))
+	}
+	for _, p := range []impl.Program{busyProgram(), easyProgram(), impl.DemoProgram(), fullProgram()} {
+		image, _ := impl.ImageText(p)
+		wantApart(t, "LoadPlc", nil, func() []part {
+			first, _ := impl.LoadPlc(image)
+			second, _ := impl.LoadPlc(image)
+			return append(plcParts(first), plcParts(second)...)
+		})
+	}
+}
+
+// Processors on the way of one that works: each stays as it was, also where their lists grow.
+func TestPlcsInSequence(t *testing.T) {
+	r := rand.New(rand.NewSource(172))
+	for range 20 {
+		x := mixedPlc(r)
+		list, before := []impl.Plc{x}, []impl.Plc{copyOfPlc(x)}
+		for n := range 60 {
+			switch {
+			case n%20 == 19:
+				x, _ = impl.StopPlc(x)
+			case n%20 == 0:
+				x, _ = impl.StartPlc(x)
+			case n%7 == 0:
+				x, _ = impl.RunPlc(x, drawnScript(r, 5))
+			default:
+				x, _ = impl.TickPlc(x, drawnPins(r))
+			}
+			list, before = append(list, x), append(before, copyOfPlc(x))
+		}
+		for i := range list {
+			if !equalPlcs(list[i], before[i]) {
+				t.Fatal("processor", i, "became", list[i], "and was", before[i])
+			}
+		}
+	}
+}
+
+// A processor whose lists are one and the same slice where they can be.
+func TestPlcOfSharedLists(t *testing.T) {
+	pins := pinsOn(1, 6)
+	x := busyPlc()
+	x.Program.Safe, x.Data.Latched, x.Data.Pins, x.Data.Outs, x.Data.Wires = pins, pins, pins, pins, pins
+	for i := range x.Jobs {
+		x.Jobs[i].Latched, x.Jobs[i].Outs, x.Jobs[i].First = pins, pins, pins
+	}
+	runOf(t, x, scriptOf(3, 1, 6))
+	runOf(t, x, slices.Repeat([][]bool{pins}, 200))
+	checkStop(t, x)
+	if y, code := impl.RunPlc(x, slices.Repeat([][]bool{pins}, 200)); code != 0 || !slices.Equal(pins, pinsOn(1, 6)) {
+		t.Error("the pins became", pins, "of", brief(y), code)
+	}
+	wantApart(t, "StopPlc", nil, func() []part { y, _ := impl.StopPlc(x); return plcParts(y) })
+	wantApart(t, "RunPlc", nil, func() []part { y, _ := impl.RunPlc(x, scriptOf(9)); return plcParts(y) })
+}
+
+// The same processor in other memory, and nil in place of empty lists, yield the same results.
+func TestEqualPlcs(t *testing.T) {
+	for _, x := range edgePlcs() {
+		inside, _ := withinPlc(x)
+		wantSame(t, plcCalls(x), plcCalls(inside))
+	}
+	for _, script := range edgeScripts() {
+		inside, _ := withinScript(script)
+		wantSame(t, []call{scriptCall(busyPlc(), script)}, []call{scriptCall(busyPlc(), inside)})
+	}
+	wantSame(t, []call{scriptCall(busyPlc(), nil), scriptCall(busyPlc(), [][]bool{nil}), tickCall(busyPlc(), nil)},
+		[]call{scriptCall(busyPlc(), [][]bool{}), scriptCall(busyPlc(), [][]bool{{}}), tickCall(busyPlc(), []bool{})})
+	x := newPlc(programOf(nil, make([]impl.Routine, 1), cyclic(9, 9, 0)))
+	x.Mode = 2
+	y := changedPlc(x, func(x *impl.Plc) {
+		x.Program.Kinds, x.Program.Routines[0].Code, x.Data.Blocks, x.Sources[0].Queue, x.Jobs, x.Log = []int{}, []impl.Instr{}, []impl.Fb{}, []int{}, []impl.Job{}, []impl.Done{}
+	})
+	x.Sources[0].Queue = nil
+	wantSame(t, plcCalls(x), plcCalls(y))
+}
+
 // A program whose routines have one and the same code is written like any other, and read with code of their own.
 func TestSharedCode(t *testing.T) {
 	code := parse("push 4; store 2; cut")
